@@ -9,16 +9,8 @@ import (
 
 	"lodestone/api"
 	"lodestone/heap"
+	"lodestone/samples"
 )
-
-// drawer hands out numbers without a pattern, the same ones each time.
-func drawer(seed uint64) func() uint64 {
-	x := seed
-	return func() uint64 {
-		x = x*6364136223846793005 + 1442695040888963407
-		return x >> 33
-	}
-}
 
 func hit(id uint64, dist int64) api.Hit { return api.Hit{ID: id, Dist: dist} }
 
@@ -352,28 +344,11 @@ func TestAskingChangesNothing(t *testing.T) {
 
 // P4.4
 
-// orders calls f with the hits in each order there is.
-func orders(l []api.Hit, f func([]api.Hit)) {
-	var put func(int)
-	put = func(from int) {
-		if from == len(l) {
-			f(l)
-			return
-		}
-		for i := from; i < len(l); i++ {
-			l[from], l[i] = l[i], l[from]
-			put(from + 1)
-			l[from], l[i] = l[i], l[from]
-		}
-	}
-	put(0)
-}
-
 func TestNearestAreKeptInEachOrder(t *testing.T) {
 	l := []api.Hit{hit(6, 3), hit(2, 8), hit(5, 3), hit(1, 3), hit(4, 0), hit(3, 8)}
 	want := nearestFirst(l)
 	for n := 1; n <= len(l)+1; n++ {
-		orders(slices.Clone(l), func(order []api.Hit) {
+		samples.Orders(l, func(order []api.Hit) {
 			h := made(t, n)
 			for _, x := range order {
 				h.Push(x)
@@ -387,7 +362,7 @@ func TestNearestAreKeptInEachOrder(t *testing.T) {
 
 func TestNearestOfManyAreKept(t *testing.T) {
 	for _, kinds := range []uint64{1, 3, 100, 1 << 30} {
-		draw := drawer(kinds)
+		draw := samples.Drawer(kinds)
 		var l []api.Hit
 		for i := range uint64(1000) {
 			l = append(l, hit(i*7%1000, int64(draw()%kinds)))
@@ -435,7 +410,7 @@ func TestRunsAgreeWithThePlainHeap(t *testing.T) {
 	for _, n := range []int{1, 2, 3, 5, 8, 33} {
 		for _, ids := range []uint64{1, 2, 6, 20, 1 << 31} {
 			for _, dists := range []uint64{1, 2, 5, 1 << 31} {
-				checkRun(t, n, 400, drawer(uint64(n)+ids*31+dists), ids, dists)
+				checkRun(t, n, 400, samples.Drawer(uint64(n)+ids*31+dists), ids, dists)
 			}
 		}
 	}
@@ -443,8 +418,8 @@ func TestRunsAgreeWithThePlainHeap(t *testing.T) {
 
 func TestLongRunsAgreeWithThePlainHeap(t *testing.T) {
 	for _, n := range []int{255, api.MaxHits} {
-		checkRun(t, n, 1500, drawer(5), 1<<31, 1<<31)
-		checkRun(t, n, 1500, drawer(6), 500, 3)
+		checkRun(t, n, 1500, samples.Drawer(5), 1<<31, 1<<31)
+		checkRun(t, n, 1500, samples.Drawer(6), 500, 3)
 	}
 }
 
@@ -459,15 +434,7 @@ func FuzzHeap(f *testing.F) {
 			}
 			return
 		}
-		draw := func() uint64 {
-			if len(b) == 0 {
-				return 0
-			}
-			c := b[0]
-			b = b[1:]
-			return uint64(c)
-		}
-		checkRun(t, n, min(len(b), 300), draw, 256, 256)
+		checkRun(t, n, min(len(b), 300), samples.Bytes(b), 256, 256)
 	})
 }
 
@@ -554,7 +521,7 @@ func TestHeapsShareNothing(t *testing.T) {
 }
 
 func BenchmarkPush(b *testing.B) {
-	draw := drawer(1)
+	draw := samples.Drawer(1)
 	h, _ := heap.New(api.MaxHits)
 	id := uint64(0)
 	for b.Loop() {

@@ -7,20 +7,12 @@ import (
 	"testing"
 
 	"lodestone/api"
+	"lodestone/samples"
 	"lodestone/vec"
 )
 
-// drawer hands out numbers without a pattern, the same ones each time.
-func drawer(seed uint64) func() uint64 {
-	x := seed
-	return func() uint64 {
-		x = x*6364136223846793005 + 1442695040888963407
-		return x >> 33
-	}
-}
-
 func noise(seed uint64, size int) []int8 {
-	draw := drawer(seed)
+	draw := samples.Drawer(seed)
 	v := make([]int8, size)
 	for i := range v {
 		v[i] = int8(draw())
@@ -311,7 +303,7 @@ func checkSort(t *testing.T, l []api.Hit) {
 func TestSortOfManyLengths(t *testing.T) {
 	for _, size := range []int{2, 3, 7, 12, 13, 20, 21, 50, 256, 257, 2048, 20000} {
 		for _, kinds := range []uint64{1, 2, 10, 1 << 40} {
-			draw := drawer(uint64(size))
+			draw := samples.Drawer(uint64(size))
 			l := make([]api.Hit, size)
 			for i := range l {
 				l[i] = hit(draw()%kinds, int64(draw()%kinds)-int64(kinds/2))
