@@ -39,3 +39,12 @@ func Orders[T any](list []T, f func([]T)) {
 	}
 	put(0)
 }
+
+// UpTo makes a list of the numbers from 0 to below n.
+func UpTo(n int) []int {
+	var l []int
+	for i := range n {
+		l = append(l, i)
+	}
+	return l
+}

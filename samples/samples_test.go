@@ -46,3 +46,11 @@ func TestOrders(t *testing.T) {
 		t.Errorf("%d orders of %v", len(seen), l)
 	}
 }
+
+func TestUpTo(t *testing.T) {
+	for n, want := range map[int][]int{0: nil, 1: {0}, 4: {0, 1, 2, 3}} {
+		if l := samples.UpTo(n); !slices.Equal(l, want) {
+			t.Errorf("UpTo(%d) = %v", n, l)
+		}
+	}
+}

@@ -132,14 +132,6 @@ func checkSet(t *testing.T, s *sets.Set, want ...int) {
 	}
 }
 
-func upTo(n int) []int {
-	var l []int
-	for i := range n {
-		l = append(l, i)
-	}
-	return l
-}
-
 // P5.1
 
 func TestNewRefuses(t *testing.T) {
@@ -188,7 +180,7 @@ func TestNewTakesNumbersBelow(t *testing.T) {
 
 func TestFullSet(t *testing.T) {
 	for _, bound := range []int{0, 1, 2, 62, 63, 64, 65, 66, 127, 128, 129, 1000, api.MaxItems - 1, api.MaxItems} {
-		checkSet(t, made(t, bound, upTo(bound)...), upTo(bound)...)
+		checkSet(t, made(t, bound, samples.UpTo(bound)...), samples.UpTo(bound)...)
 	}
 }
 
@@ -237,7 +229,7 @@ func TestSetForOne(t *testing.T) {
 // What is beyond the set's numbers is neither added nor dropped, and changes none of them.
 func TestNumbersBeyond(t *testing.T) {
 	for _, bound := range []int{1, 63, 64, 65, 100, 128, api.MaxItems} {
-		for _, l := range [][]int{nil, {0}, {bound - 1}, upTo(bound)} {
+		for _, l := range [][]int{nil, {0}, {bound - 1}, samples.UpTo(bound)} {
 			s := made(t, bound, l...)
 			for _, n := range append([]int{bound, bound + 1, bound + 63, bound + 64}, farOff...) {
 				checkAdd(t, s, n, false)
@@ -261,12 +253,12 @@ func TestEachNumberAlone(t *testing.T) {
 			checkAdd(t, s, n, m == n)
 		}
 		checkList(t, s, n)
-		full := made(t, 200, upTo(200)...)
+		full := made(t, 200, samples.UpTo(200)...)
 		checkDrop(t, full, n, true)
 		checkDrop(t, full, n, false)
-		checkList(t, full, slices.Delete(upTo(200), n, n+1)...)
+		checkList(t, full, slices.Delete(samples.UpTo(200), n, n+1)...)
 		checkAdd(t, full, n, true)
-		checkList(t, full, upTo(200)...)
+		checkList(t, full, samples.UpTo(200)...)
 	}
 }
 
@@ -312,7 +304,7 @@ func TestEachOrder(t *testing.T) {
 
 func TestOrdersOfMany(t *testing.T) {
 	draw := samples.Drawer(3)
-	l := upTo(api.MaxItems)
+	l := samples.UpTo(api.MaxItems)
 	falling := slices.Clone(l)
 	slices.Reverse(falling)
 	mixed := slices.Clone(l)
