@@ -1,6 +1,8 @@
 // Package samples makes inputs for the tests of the layers; the layers themselves don't call it.
 package samples
 
+import "slices"
+
 // Drawer hands out numbers without a pattern, below 2^31, the same ones for the same seed.
 func Drawer(seed uint64) func() uint64 {
 	x := seed
@@ -45,6 +47,46 @@ func UpTo(n int) []int {
 	var l []int
 	for i := range n {
 		l = append(l, i)
+	}
+	return l
+}
+
+// Noise makes a vector of so many numbers without a pattern, the same one for the same seed.
+func Noise(seed uint64, size int) []int8 {
+	draw := Drawer(seed)
+	v := make([]int8, size)
+	for i := range v {
+		v[i] = int8(draw())
+	}
+	return v
+}
+
+// Crowd makes so many vectors as Noise does, each from a seed of its own.
+func Crowd(seed uint64, count, size int) [][]int8 {
+	l := make([][]int8, count)
+	for i := range l {
+		l[i] = Noise(seed+uint64(1000*i), size)
+	}
+	return l
+}
+
+// Filled makes a vector that has the number so many times.
+func Filled(size int, n int8) []int8 { return slices.Repeat([]int8{n}, size) }
+
+// FilledCrowd makes so many vectors as Filled does.
+func FilledCrowd(count, size int, n int8) [][]int8 {
+	l := make([][]int8, count)
+	for i := range l {
+		l[i] = Filled(size, n)
+	}
+	return l
+}
+
+// Line makes vectors of one number each.
+func Line(list ...int8) [][]int8 {
+	var l [][]int8
+	for _, n := range list {
+		l = append(l, []int8{n})
 	}
 	return l
 }

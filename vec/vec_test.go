@@ -11,42 +11,6 @@ import (
 	"lodestone/vec"
 )
 
-func noise(seed uint64, size int) []int8 {
-	draw := samples.Drawer(seed)
-	v := make([]int8, size)
-	for i := range v {
-		v[i] = int8(draw())
-	}
-	return v
-}
-
-func crowd(seed uint64, count, size int) [][]int8 {
-	l := make([][]int8, count)
-	for i := range l {
-		l[i] = noise(seed+uint64(1000*i), size)
-	}
-	return l
-}
-
-func filled(size int, n int8) []int8 { return slices.Repeat([]int8{n}, size) }
-
-func filledCrowd(count, size int, n int8) [][]int8 {
-	l := make([][]int8, count)
-	for i := range l {
-		l[i] = filled(size, n)
-	}
-	return l
-}
-
-// line is vectors of one number each.
-func line(list ...int8) [][]int8 {
-	var l [][]int8
-	for _, n := range list {
-		l = append(l, []int8{n})
-	}
-	return l
-}
-
 // plainDist is the document's words, place by place.
 func plainDist(a, b []int8) int64 {
 	sum := int64(0)
@@ -148,9 +112,9 @@ func TestDistOfEachTwoNumbers(t *testing.T) {
 
 func TestDistOfEachLength(t *testing.T) {
 	for size := 1; size <= api.MaxDim; size++ {
-		checkDist(t, filled(size, -128), filled(size, 127), 65025*int64(size))
+		checkDist(t, samples.Filled(size, -128), samples.Filled(size, 127), 65025*int64(size))
 		for seed := range uint64(20) {
-			a, b := noise(seed, size), noise(seed+77, size)
+			a, b := samples.Noise(seed, size), samples.Noise(seed+77, size)
 			checkDist(t, a, b, plainDist(a, b))
 		}
 	}
@@ -171,7 +135,7 @@ func TestDistRefusesLengths(t *testing.T) {
 	checkNoDist(t, nil, []int8{1})
 	checkNoDist(t, []int8{1}, []int8{})
 	for _, size := range []int{api.MaxDim + 1, api.MaxDim + 2, 256, 257, 65537} {
-		checkNoDist(t, filled(size, 1), filled(size, 1))
+		checkNoDist(t, samples.Filled(size, 1), samples.Filled(size, 1))
 	}
 }
 
@@ -179,7 +143,7 @@ func TestDistRefusesUnlikeLengths(t *testing.T) {
 	for size := range api.MaxDim + 3 {
 		for other := range api.MaxDim + 3 {
 			if size != other {
-				checkNoDist(t, filled(size, 1), filled(other, 1))
+				checkNoDist(t, samples.Filled(size, 1), samples.Filled(other, 1))
 			}
 		}
 	}
@@ -187,7 +151,7 @@ func TestDistRefusesUnlikeLengths(t *testing.T) {
 
 // What stands in a list's spare room does not count.
 func TestDistCountsNoSpareRoom(t *testing.T) {
-	a, b := noise(1, 100), noise(2, 100)
+	a, b := samples.Noise(1, 100), samples.Noise(2, 100)
 	checkDist(t, a[:3], b[:3], plainDist(a[:3], b[:3]))
 	checkDist(t, a[:api.MaxDim], b[:api.MaxDim], plainDist(a[:api.MaxDim], b[:api.MaxDim]))
 	checkNoDist(t, a[:0], b[:0])
@@ -323,7 +287,7 @@ func TestSortOfManyLengths(t *testing.T) {
 // wrongLists is what has no mean.
 func wrongLists() [][][]int8 {
 	fine := []int8{1, 2}
-	late := filledCrowd(api.MaxItems, 2, 1)
+	late := samples.FilledCrowd(api.MaxItems, 2, 1)
 	late[api.MaxItems-1] = []int8{1}
 	return [][][]int8{
 		nil,
@@ -337,14 +301,14 @@ func wrongLists() [][][]int8 {
 		{nil, {1}},
 		{fine, fine, {1, 2, 3}},
 		{fine, fine, {1}, fine},
-		{filled(api.MaxDim+1, 1)},
-		{filled(api.MaxDim, 1), filled(api.MaxDim+1, 1)},
-		{filled(api.MaxDim+1, 1), filled(api.MaxDim, 1)},
-		filledCrowd(3, api.MaxDim+1, 1),
-		filledCrowd(3, 1000, 1),
-		filledCrowd(api.MaxItems+1, 1, 1),
-		filledCrowd(api.MaxItems+1, api.MaxDim, 1),
-		filledCrowd(3*api.MaxItems, 1, 1),
+		{samples.Filled(api.MaxDim+1, 1)},
+		{samples.Filled(api.MaxDim, 1), samples.Filled(api.MaxDim+1, 1)},
+		{samples.Filled(api.MaxDim+1, 1), samples.Filled(api.MaxDim, 1)},
+		samples.FilledCrowd(3, api.MaxDim+1, 1),
+		samples.FilledCrowd(3, 1000, 1),
+		samples.FilledCrowd(api.MaxItems+1, 1, 1),
+		samples.FilledCrowd(api.MaxItems+1, api.MaxDim, 1),
+		samples.FilledCrowd(3*api.MaxItems, 1, 1),
 		make([][]int8, api.MaxItems),
 		make([][]int8, api.MaxItems+1),
 		late,
@@ -364,49 +328,49 @@ func TestMeanAndMiddleRefuse(t *testing.T) {
 
 func TestMeanKnown(t *testing.T) {
 	checkMean(t, [][]int8{{1, -1}, {2, -2}}, []int8{2, -2})
-	checkMean(t, line(0, 1, 0), []int8{0})
+	checkMean(t, samples.Line(0, 1, 0), []int8{0})
 	checkMean(t, [][]int8{{7, -8, 0}}, []int8{7, -8, 0})
 	checkMean(t, [][]int8{{10, 0}, {20, 1}, {30, -1}}, []int8{20, 0})
 }
 
 // Halfway between two whole numbers the one farther from 0 is taken, above and below 0.
 func TestMeanGoesAwayFromZeroAtHalves(t *testing.T) {
-	checkMean(t, line(0, 1), []int8{1})
-	checkMean(t, line(-1, 0), []int8{-1})
-	checkMean(t, line(1, 2), []int8{2})
-	checkMean(t, line(-1, -2), []int8{-2})
-	checkMean(t, line(126, 127), []int8{127})
-	checkMean(t, line(-127, -128), []int8{-128})
-	checkMean(t, line(-128, 127), []int8{-1})
-	checkMean(t, line(0, 0, 0, 2), []int8{1})
-	checkMean(t, line(0, 0, 0, -2), []int8{-1})
-	checkMean(t, line(1, 0, 0, 0, 0, 2), []int8{1})
-	checkMean(t, line(3, 4, 3, 4), []int8{4})
-	checkMean(t, line(-3, -4, -3, -4), []int8{-4})
+	checkMean(t, samples.Line(0, 1), []int8{1})
+	checkMean(t, samples.Line(-1, 0), []int8{-1})
+	checkMean(t, samples.Line(1, 2), []int8{2})
+	checkMean(t, samples.Line(-1, -2), []int8{-2})
+	checkMean(t, samples.Line(126, 127), []int8{127})
+	checkMean(t, samples.Line(-127, -128), []int8{-128})
+	checkMean(t, samples.Line(-128, 127), []int8{-1})
+	checkMean(t, samples.Line(0, 0, 0, 2), []int8{1})
+	checkMean(t, samples.Line(0, 0, 0, -2), []int8{-1})
+	checkMean(t, samples.Line(1, 0, 0, 0, 0, 2), []int8{1})
+	checkMean(t, samples.Line(3, 4, 3, 4), []int8{4})
+	checkMean(t, samples.Line(-3, -4, -3, -4), []int8{-4})
 }
 
 // Beside a half the nearest is taken, whichever side of 0.
 func TestMeanBesideHalves(t *testing.T) {
-	checkMean(t, line(0, 0, 1), []int8{0})
-	checkMean(t, line(0, 1, 1), []int8{1})
-	checkMean(t, line(0, 0, -1), []int8{0})
-	checkMean(t, line(0, -1, -1), []int8{-1})
-	checkMean(t, line(1, 2, 1), []int8{1})
-	checkMean(t, line(-1, -2, -1), []int8{-1})
-	checkMean(t, line(0, 0, 0, 1), []int8{0})
-	checkMean(t, line(0, 0, 0, -1), []int8{0})
-	checkMean(t, line(0, 0, 0, 3), []int8{1})
-	checkMean(t, line(0, 0, 0, -3), []int8{-1})
-	checkMean(t, line(0, 0, 0, 0, 2), []int8{0})
-	checkMean(t, line(0, 0, 0, 0, 3), []int8{1})
-	checkMean(t, line(0, 0, 0, 0, -2), []int8{0})
-	checkMean(t, line(0, 0, 0, 0, -3), []int8{-1})
+	checkMean(t, samples.Line(0, 0, 1), []int8{0})
+	checkMean(t, samples.Line(0, 1, 1), []int8{1})
+	checkMean(t, samples.Line(0, 0, -1), []int8{0})
+	checkMean(t, samples.Line(0, -1, -1), []int8{-1})
+	checkMean(t, samples.Line(1, 2, 1), []int8{1})
+	checkMean(t, samples.Line(-1, -2, -1), []int8{-1})
+	checkMean(t, samples.Line(0, 0, 0, 1), []int8{0})
+	checkMean(t, samples.Line(0, 0, 0, -1), []int8{0})
+	checkMean(t, samples.Line(0, 0, 0, 3), []int8{1})
+	checkMean(t, samples.Line(0, 0, 0, -3), []int8{-1})
+	checkMean(t, samples.Line(0, 0, 0, 0, 2), []int8{0})
+	checkMean(t, samples.Line(0, 0, 0, 0, 3), []int8{1})
+	checkMean(t, samples.Line(0, 0, 0, 0, -2), []int8{0})
+	checkMean(t, samples.Line(0, 0, 0, 0, -3), []int8{-1})
 }
 
 func TestMeanOfEachTwoNumbers(t *testing.T) {
 	for x := -128; x <= 127; x++ {
 		for y := -128; y <= 127; y++ {
-			l := line(int8(x), int8(y))
+			l := samples.Line(int8(x), int8(y))
 			if m, want := mustMean(t, l), plainMean(l); !slices.Equal(m, want) {
 				t.Fatalf("Mean(%v) = %v; want %v", l, m, want)
 			}
@@ -416,13 +380,13 @@ func TestMeanOfEachTwoNumbers(t *testing.T) {
 
 func TestMeanUpToMaxItems(t *testing.T) {
 	for _, n := range []int8{-128, -1, 0, 1, 127} {
-		checkMean(t, filledCrowd(api.MaxItems, api.MaxDim, n), filled(api.MaxDim, n))
+		checkMean(t, samples.FilledCrowd(api.MaxItems, api.MaxDim, n), samples.Filled(api.MaxDim, n))
 	}
-	half := append(filledCrowd(api.MaxItems/2, 1, 0), filledCrowd(api.MaxItems/2, 1, 1)...)
+	half := append(samples.FilledCrowd(api.MaxItems/2, 1, 0), samples.FilledCrowd(api.MaxItems/2, 1, 1)...)
 	checkMean(t, half, []int8{1})
 	half[api.MaxItems-1] = []int8{0}
 	checkMean(t, half, []int8{0})
-	half = append(filledCrowd(api.MaxItems/2, 1, -128), filledCrowd(api.MaxItems/2, 1, -127)...)
+	half = append(samples.FilledCrowd(api.MaxItems/2, 1, -128), samples.FilledCrowd(api.MaxItems/2, 1, -127)...)
 	checkMean(t, half, []int8{-128})
 	half[0] = []int8{-127}
 	checkMean(t, half, []int8{-127})
@@ -431,7 +395,7 @@ func TestMeanUpToMaxItems(t *testing.T) {
 func TestMeanOfManyVectors(t *testing.T) {
 	for _, count := range []int{1, 2, 3, 4, 5, 7, 64, 100, 2047, api.MaxItems} {
 		for _, size := range []int{1, 2, 9, api.MaxDim} {
-			l := crowd(uint64(count), count, size)
+			l := samples.Crowd(uint64(count), count, size)
 			checkMean(t, l, plainMean(l))
 		}
 	}
@@ -444,45 +408,45 @@ func TestMeanCountsTheSameVectorAgain(t *testing.T) {
 }
 
 func TestMeanCountsNoSpareRoom(t *testing.T) {
-	room := noise(3, 100)
+	room := samples.Noise(3, 100)
 	checkMean(t, [][]int8{room[:2], room[:2]}, room[:2])
-	many := filledCrowd(api.MaxItems+5, 1, 4)
+	many := samples.FilledCrowd(api.MaxItems+5, 1, 4)
 	checkMean(t, many[:api.MaxItems], []int8{4})
 }
 
 func TestMiddleKnown(t *testing.T) {
-	checkMiddle(t, line(0, 9, 4, 5), 3)
-	checkMiddle(t, line(7), 0)
-	checkMiddle(t, line(0, 10, 5), 2)
-	checkMiddle(t, line(5, 0, 10), 0)
-	checkMiddle(t, line(127, -128, -1), 2)
+	checkMiddle(t, samples.Line(0, 9, 4, 5), 3)
+	checkMiddle(t, samples.Line(7), 0)
+	checkMiddle(t, samples.Line(0, 10, 5), 2)
+	checkMiddle(t, samples.Line(5, 0, 10), 0)
+	checkMiddle(t, samples.Line(127, -128, -1), 2)
 	checkMiddle(t, [][]int8{{0, 0}, {10, 10}, {4, 6}, {5, 5}}, 3)
 }
 
 // Of several that are as near the first one is taken.
 func TestMiddleTakesTheFirst(t *testing.T) {
-	checkMiddle(t, line(3, 3, 3), 0)
-	checkMiddle(t, line(4, 6), 0)
-	checkMiddle(t, line(4, 6, 4, 6, 5, 5), 4)
-	checkMiddle(t, line(0, 2), 0)
-	checkMiddle(t, line(2, 0), 0)
-	checkMiddle(t, line(-2, 2, -9, 9, 2, -2), 0)
+	checkMiddle(t, samples.Line(3, 3, 3), 0)
+	checkMiddle(t, samples.Line(4, 6), 0)
+	checkMiddle(t, samples.Line(4, 6, 4, 6, 5, 5), 4)
+	checkMiddle(t, samples.Line(0, 2), 0)
+	checkMiddle(t, samples.Line(2, 0), 0)
+	checkMiddle(t, samples.Line(-2, 2, -9, 9, 2, -2), 0)
 	checkMiddle(t, [][]int8{{9, 9}, {0, 1}, {1, 0}, {-9, -9}, {0, -1}, {-1, 0}}, 1)
-	checkMiddle(t, filledCrowd(api.MaxItems, api.MaxDim, -128), 0)
+	checkMiddle(t, samples.FilledCrowd(api.MaxItems, api.MaxDim, -128), 0)
 }
 
 // The Mean is the whole number, not the fraction: of 0, 0, 3, 3 it is 2, and 3 is nearer to it than 0.
 func TestMiddleGoesByTheWholeMean(t *testing.T) {
-	checkMiddle(t, line(0, 0, 3, 3), 2)
-	checkMiddle(t, line(0, 0, -3, -3), 2)
-	checkMiddle(t, line(4, 5), 1)
-	checkMiddle(t, line(-4, -5), 1)
+	checkMiddle(t, samples.Line(0, 0, 3, 3), 2)
+	checkMiddle(t, samples.Line(0, 0, -3, -3), 2)
+	checkMiddle(t, samples.Line(4, 5), 1)
+	checkMiddle(t, samples.Line(-4, -5), 1)
 }
 
 func TestMiddleOfManyVectors(t *testing.T) {
 	for _, count := range []int{1, 2, 3, 10, 500, api.MaxItems} {
 		for _, size := range []int{1, 2, 9, api.MaxDim} {
-			l := crowd(uint64(7*count), count, size)
+			l := samples.Crowd(uint64(7*count), count, size)
 			mean := plainMean(l)
 			want := 0
 			for i, v := range l {
@@ -496,12 +460,12 @@ func TestMiddleOfManyVectors(t *testing.T) {
 }
 
 func TestMiddleAmongMaxItems(t *testing.T) {
-	l := append(filledCrowd(api.MaxItems-1, 2, 100), []int8{99, 99})
+	l := append(samples.FilledCrowd(api.MaxItems-1, 2, 100), []int8{99, 99})
 	l[0] = []int8{-128, -128}
 	// The one vector far away makes the fraction a little less than 100: 100 is the nearest still.
 	checkMiddle(t, l, 1)
 	for i := range l[:len(l)-1] {
-		l[i] = filled(2, int8(50-100*(i%2)))
+		l[i] = samples.Filled(2, int8(50-100*(i%2)))
 	}
 	l[len(l)-1] = []int8{0, 0}
 	checkMiddle(t, l, api.MaxItems-1)
@@ -512,7 +476,7 @@ func TestMiddleAmongMaxItems(t *testing.T) {
 func TestDistIsTheSameFromBothSides(t *testing.T) {
 	for size := range api.MaxDim + 2 {
 		for seed := range uint64(20) {
-			a, b := noise(seed, size), noise(seed+1, size)
+			a, b := samples.Noise(seed, size), samples.Noise(seed+1, size)
 			n, e := vec.Dist(a, b)
 			if m, f := vec.Dist(b, a); m != n || f != e {
 				t.Errorf("Dist(%v, %v) = %d, %d; the other way round %d, %d", a, b, n, e, m, f)
@@ -523,7 +487,7 @@ func TestDistIsTheSameFromBothSides(t *testing.T) {
 
 func TestDistIsZeroOfAVectorAndItself(t *testing.T) {
 	for size := 1; size <= api.MaxDim; size++ {
-		a := noise(uint64(size), size)
+		a := samples.Noise(uint64(size), size)
 		checkDist(t, a, a, 0)
 		checkDist(t, a, slices.Clone(a), 0)
 		for place := range a {
@@ -551,7 +515,7 @@ func together(t *testing.T, v []int8, l [][]int8) int64 {
 func TestNoNumberIsNearerToAllThanTheMean(t *testing.T) {
 	for count := 1; count <= 12; count++ {
 		for seed := range uint64(10) {
-			l := crowd(seed, count, 1)
+			l := samples.Crowd(seed, count, 1)
 			least := together(t, mustMean(t, l), l)
 			for n := -128; n <= 127; n++ {
 				if sum := together(t, []int8{int8(n)}, l); sum < least {
@@ -565,7 +529,7 @@ func TestNoNumberIsNearerToAllThanTheMean(t *testing.T) {
 func TestNoVectorIsNearerToAllThanTheMean(t *testing.T) {
 	for _, size := range []int{2, 5, api.MaxDim} {
 		for _, count := range []int{1, 2, 3, 30} {
-			l := crowd(uint64(size*count), count, size)
+			l := samples.Crowd(uint64(size*count), count, size)
 			mean := mustMean(t, l)
 			least := together(t, mean, l)
 			for place := range mean {
@@ -578,7 +542,7 @@ func TestNoVectorIsNearerToAllThanTheMean(t *testing.T) {
 				}
 			}
 			for seed := range uint64(50) {
-				if other := noise(seed, size); together(t, other, l) < least {
+				if other := samples.Noise(seed, size); together(t, other, l) < least {
 					t.Errorf("%v is nearer than the mean %v", other, mean)
 				}
 			}
@@ -618,7 +582,7 @@ func FuzzVec(f *testing.F) {
 func TestMeanAgreesWithFractions(t *testing.T) {
 	half := big.NewRat(1, 2)
 	for count := 1; count <= 64; count++ {
-		l := crowd(uint64(count)*31, count, 3)
+		l := samples.Crowd(uint64(count)*31, count, 3)
 		mean := mustMean(t, l)
 		for place, n := range mean {
 			sum := int64(0)
@@ -637,8 +601,8 @@ func TestMeanAgreesWithFractions(t *testing.T) {
 // R4, R5
 
 func TestArgumentsStayAsTheyAre(t *testing.T) {
-	room := crowd(1, 6, 8)
-	before := crowd(1, 6, 8)
+	room := samples.Crowd(1, 6, 8)
+	before := samples.Crowd(1, 6, 8)
 	list := [][]int8{room[0][:3], room[1][:3], room[2][:3], room[3], room[4]}
 	vec.Dist(list[0], list[1])
 	vec.Mean(list[:3])
@@ -685,18 +649,18 @@ func TestAnswersShareNoMemory(t *testing.T) {
 
 func TestCallsLeaveNothingBehind(t *testing.T) {
 	for range 3 {
-		vec.Mean(crowd(5, 100, 9))
-		vec.Mean(line(1, 2, 3)[:0])
-		checkMean(t, line(0, 1, 0), []int8{0})
-		vec.Middle(crowd(6, 100, 9))
+		vec.Mean(samples.Crowd(5, 100, 9))
+		vec.Mean(samples.Line(1, 2, 3)[:0])
+		checkMean(t, samples.Line(0, 1, 0), []int8{0})
+		vec.Middle(samples.Crowd(6, 100, 9))
 		vec.Dist(nil, nil)
-		checkMiddle(t, line(0, 9, 4, 5), 3)
+		checkMiddle(t, samples.Line(0, 9, 4, 5), 3)
 		checkDist(t, []int8{1, 2}, []int8{4, -2}, 25)
 	}
 }
 
 func BenchmarkDist(b *testing.B) {
-	x, y := noise(1, api.MaxDim), noise(2, api.MaxDim)
+	x, y := samples.Noise(1, api.MaxDim), samples.Noise(2, api.MaxDim)
 	for b.Loop() {
 		vec.Dist(x, y)
 	}
