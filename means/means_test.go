@@ -58,7 +58,7 @@ func plainStep(m, l [][]int8) [][]int8 {
 		place, _ := plainNearest(m, v)
 		groups[place] = append(groups[place], v)
 	}
-	stepped := deepCopy(m)
+	stepped := samples.Copies(m)
 	for place, group := range groups {
 		if group != nil {
 			stepped[place] = plainMean(group)
@@ -84,10 +84,6 @@ func at(l [][]int8, places ...int) [][]int8 {
 	}
 	return picked
 }
-
-func deepCopy(l [][]int8) [][]int8 { return at(l, samples.UpTo(len(l))...) }
-
-func same(a, b [][]int8) bool { return slices.EqualFunc(a, b, slices.Equal[[]int8]) }
 
 // pairs makes vectors of two numbers each.
 func pairs(list ...int8) [][]int8 {
@@ -121,7 +117,7 @@ func checkCost(t *testing.T, m, l [][]int8, want int64) {
 
 func checkStep(t *testing.T, m, l, want [][]int8) {
 	t.Helper()
-	if s, e := means.Step(m, l); !same(s, want) || e != api.OK {
+	if s, e := means.Step(m, l); !samples.Same(s, want) || e != api.OK {
 		t.Errorf("Step(%v, %v) = %v, %d; want %v", m, l, s, e, want)
 	}
 }
@@ -139,7 +135,7 @@ func checkRefused(t *testing.T, m, l [][]int8) {
 
 func checkTrain(t *testing.T, l [][]int8, k, rounds int, seed uint64, want [][]int8) {
 	t.Helper()
-	if m, e := means.Train(l, k, rounds, seed); !same(m, want) || e != api.OK {
+	if m, e := means.Train(l, k, rounds, seed); !samples.Same(m, want) || e != api.OK {
 		t.Errorf("Train(%v, %d, %d, %x) = %v, %d; want %v", l, k, rounds, seed, m, e, want)
 	}
 }
@@ -397,8 +393,8 @@ func TestStepKeepsMeansWithoutVectors(t *testing.T) {
 	checkStep(t, samples.Line(90, 0, 91, 10, 92), samples.Line(1, 3, 9), samples.Line(90, 2, 91, 9, 92))
 	checkStep(t, pairs(-128, 127, 0, 0), pairs(5, 5), pairs(-128, 127, 5, 5))
 	m := samples.Crowd(9, api.MaxMeans, api.MaxDim)
-	checkStep(t, m, nil, deepCopy(m))
-	want := deepCopy(m)
+	checkStep(t, m, nil, samples.Copies(m))
+	want := samples.Copies(m)
 	for _, place := range []int{0, 1, 31, api.MaxMeans - 1} {
 		checkStep(t, m, [][]int8{m[place]}, want)
 	}
@@ -445,7 +441,7 @@ func TestStepOfTheLeastAndTheGreatest(t *testing.T) {
 		checkStep(t, samples.FilledCrowd(api.MaxMeans, api.MaxDim, 0), l, want)
 	}
 	m := [][]int8{samples.Filled(api.MaxDim, -128), samples.Filled(api.MaxDim, 127)}
-	checkStep(t, m, [][]int8{m[1], m[0], m[1]}, deepCopy(m))
+	checkStep(t, m, [][]int8{m[1], m[0], m[1]}, samples.Copies(m))
 }
 
 // P7.3
@@ -580,7 +576,7 @@ func TestTrainDoesEachRound(t *testing.T) {
 	for rounds := range api.MaxRounds + 1 {
 		checkTrain(t, l, k, rounds, seed, m)
 		stepped := plainStep(m, l)
-		if same(stepped, m) {
+		if samples.Same(stepped, m) {
 			t.Fatalf("behind %d rounds a step changes nothing: the vectors are no test of more", rounds)
 		}
 		m = stepped
@@ -609,11 +605,11 @@ func TestTrainHangsOnTheSeed(t *testing.T) {
 		ended = append(ended, last)
 	}
 	for seed := 1; seed < 20; seed++ {
-		if same(picked[0], picked[seed]) {
+		if samples.Same(picked[0], picked[seed]) {
 			t.Errorf("seeds 0 and %d pick the same", seed)
 		}
 	}
-	if !slices.ContainsFunc(ended, func(m [][]int8) bool { return !same(m, ended[0]) }) {
+	if !slices.ContainsFunc(ended, func(m [][]int8) bool { return !samples.Same(m, ended[0]) }) {
 		t.Error("all seeds end at the same means")
 	}
 }
@@ -710,10 +706,10 @@ func checkSteps(t *testing.T, m, l [][]int8, most int) {
 		if least > cost {
 			t.Fatalf("a step from %v to %v makes the cost greater: %d, %d", m, stepped, cost, least)
 		}
-		if still && !same(stepped, m) {
+		if still && !samples.Same(stepped, m) {
 			t.Fatalf("a step that changed no mean does: %v, %v", m, stepped)
 		}
-		still = same(stepped, m)
+		still = samples.Same(stepped, m)
 		m, cost = stepped, least
 	}
 }
@@ -763,7 +759,7 @@ func TestMoreRoundsNeverCostMore(t *testing.T) {
 		}
 		last := mustTrain(t, l, 6, api.MaxRounds, seed)
 		checkStep(t, last, l, plainStep(last, l))
-		if !same(plainStep(last, l), last) {
+		if !samples.Same(plainStep(last, l), last) {
 			t.Errorf("seed %d: the vectors need more than MaxRounds", seed)
 		}
 	}
@@ -771,29 +767,9 @@ func TestMoreRoundsNeverCostMore(t *testing.T) {
 
 // R4, R5
 
-// roomy makes a list with spare room, of vectors with spare room, and tells what all of it looks like.
-func roomy(seed uint64, count, size int) (list [][]int8, room func() [][]int8) {
-	whole := samples.Crowd(seed, count+3, size+4)
-	list = slices.Clone(whole)
-	for i := range count {
-		list[i] = whole[i][:size]
-	}
-	all := list
-	return list[:count], func() [][]int8 {
-		now := deepCopy(whole)
-		for i, v := range all {
-			now = append(now, []int8{int8(len(v))})
-			if &v[0] != &whole[i][0] {
-				now = append(now, nil)
-			}
-		}
-		return now
-	}
-}
-
 func TestArgumentsStayAsTheyAre(t *testing.T) {
-	m, meansRoom := roomy(1, 4, 3)
-	l, vectorsRoom := roomy(2, 20, 3)
+	m, meansRoom := samples.Roomy(1, 4, 3)
+	l, vectorsRoom := samples.Roomy(2, 20, 3)
 	meansAhead, vectorsAhead := meansRoom(), vectorsRoom()
 	for range 2 {
 		means.Nearest(m, l[0])
@@ -806,37 +782,26 @@ func TestArgumentsStayAsTheyAre(t *testing.T) {
 		means.Train(l, 21, 0, 7)
 		means.Step(m, m[:0])
 	}
-	if !same(meansRoom(), meansAhead) || !same(vectorsRoom(), vectorsAhead) {
+	if !samples.Same(meansRoom(), meansAhead) || !samples.Same(vectorsRoom(), vectorsAhead) {
 		t.Error("what was handed in is changed")
 	}
 }
 
 // What stands in a list's spare room does not count.
 func TestSpareRoomDoesNotCount(t *testing.T) {
-	m, _ := roomy(1, 4, 3)
-	l, _ := roomy(2, 20, 3)
+	m, _ := samples.Roomy(1, 4, 3)
+	l, _ := samples.Roomy(2, 20, 3)
 	checkAll(t, m, l)
 	for _, v := range l {
-		want, _ := plainNearest(deepCopy(m), v)
+		want, _ := plainNearest(samples.Copies(m), v)
 		checkNearest(t, m, v, want)
 	}
-	checkStep(t, m, l, plainStep(deepCopy(m), deepCopy(l)))
-	checkTrain(t, l, 4, 3, 7, plainTrain(deepCopy(l), 4, 3, 7))
-	most, _ := roomy(3, api.MaxMeans, api.MaxDim)
-	many, _ := roomy(4, api.MaxItems, api.MaxDim)
+	checkStep(t, m, l, plainStep(samples.Copies(m), samples.Copies(l)))
+	checkTrain(t, l, 4, 3, 7, plainTrain(samples.Copies(l), 4, 3, 7))
+	most, _ := samples.Roomy(3, api.MaxMeans, api.MaxDim)
+	many, _ := samples.Roomy(4, api.MaxItems, api.MaxDim)
 	checkStep(t, most, many, plainStep(most, many))
 	checkTrain(t, many, api.MaxMeans, 1, 7, plainTrain(many, api.MaxMeans, 1, 7))
-}
-
-// spoil writes over all that a list has, its spare room too.
-func spoil(l [][]int8) {
-	for _, v := range l[:cap(l)] {
-		v = v[:cap(v)]
-		for i := range v {
-			v[i] = 99
-		}
-	}
-	clear(l[:cap(l)])
 }
 
 // Whatever is done to an answer, what was handed in stays, and another answer, and the next one is the same.
@@ -851,13 +816,13 @@ func TestAnswersShareNoMemory(t *testing.T) {
 		"Train":              func() [][]int8 { return mustTrain(t, l, 2, 5, 7) },
 	}
 	for name, answer := range answers {
-		want := deepCopy(answer())
+		want := samples.Copies(answer())
 		other := answer()
-		spoil(answer())
-		if !same(m, samples.Line(0, 10, 90, 10)) || !same(l, samples.Line(1, 3, 9)) {
+		samples.Spoil(answer())
+		if !samples.Same(m, samples.Line(0, 10, 90, 10)) || !samples.Same(l, samples.Line(1, 3, 9)) {
 			t.Fatalf("%s: what was handed in is %v, %v", name, m, l)
 		}
-		if !same(other, want) || !same(answer(), want) {
+		if !samples.Same(other, want) || !samples.Same(answer(), want) {
 			t.Errorf("%s: other answers are %v, %v; want %v", name, other, answer(), want)
 		}
 	}
@@ -868,12 +833,12 @@ func TestAnswersKeepNoArgument(t *testing.T) {
 	m, l := samples.Line(0, 10, 90), samples.Line(1, 3, 9)
 	step, none := mustStep(t, m, l), mustStep(t, m, nil)
 	first, all := mustTrain(t, l, 3, 0, 7), mustTrain(t, l, 3, 5, 7)
-	spoil(m)
-	spoil(l)
-	if !same(step, samples.Line(2, 9, 90)) || !same(none, samples.Line(0, 10, 90)) {
+	samples.Spoil(m)
+	samples.Spoil(l)
+	if !samples.Same(step, samples.Line(2, 9, 90)) || !samples.Same(none, samples.Line(0, 10, 90)) {
 		t.Errorf("Step: %v, %v", step, none)
 	}
-	if !same(first, samples.Line(1, 3, 9)) || !same(all, samples.Line(1, 3, 9)) {
+	if !samples.Same(first, samples.Line(1, 3, 9)) || !samples.Same(all, samples.Line(1, 3, 9)) {
 		t.Errorf("Train: %v, %v", first, all)
 	}
 }
@@ -882,13 +847,13 @@ func TestAnswersKeepNoArgument(t *testing.T) {
 func checkApart(t *testing.T, name string, l [][]int8) {
 	t.Helper()
 	for i := range l {
-		others := deepCopy(l)
+		others := samples.Copies(l)
 		whole := l[i][:cap(l[i])]
 		for j := range whole {
 			whole[j]++
 		}
 		others[i] = slices.Clone(l[i])
-		if !same(l, others) {
+		if !samples.Same(l, others) {
 			t.Errorf("%s: list %d shares memory with another one", name, i)
 		}
 	}
@@ -938,14 +903,7 @@ func FuzzMeans(f *testing.F) {
 		if size < 1 || size > api.MaxDim || len(b) > 200*size {
 			return
 		}
-		var l [][]int8
-		for part := range slices.Chunk(b[:len(b)-len(b)%size], size) {
-			v := make([]int8, size)
-			for i, c := range part {
-				v[i] = int8(c)
-			}
-			l = append(l, v)
-		}
+		l := samples.Cut(b, size)
 		if k < 1 || k > api.MaxMeans || k > len(l) || rounds < 0 || rounds > api.MaxRounds {
 			checkNoTrain(t, l, k, rounds, seed)
 			return

@@ -90,3 +90,58 @@ func Line(list ...int8) [][]int8 {
 	}
 	return l
 }
+
+// Cut makes vectors of the bytes, of so many each; what is left over at the end is left out.
+func Cut(b []byte, size int) [][]int8 {
+	var l [][]int8
+	for part := range slices.Chunk(b[:len(b)-len(b)%size], size) {
+		v := make([]int8, size)
+		for i, c := range part {
+			v[i] = int8(c)
+		}
+		l = append(l, v)
+	}
+	return l
+}
+
+// Same says whether two lists have the same vectors, in order.
+func Same(a, b [][]int8) bool { return slices.EqualFunc(a, b, slices.Equal[[]int8]) }
+
+// Copies makes a copy of each vector.
+func Copies(l [][]int8) [][]int8 {
+	var copies [][]int8
+	for _, v := range l {
+		copies = append(copies, slices.Clone(v))
+	}
+	return copies
+}
+
+// Roomy makes so many vectors as Crowd does, in a list with spare room, each with spare room, and a function that tells what all of it looks like: if any of it is changed, it tells something else.
+func Roomy(seed uint64, count, size int) (list [][]int8, look func() [][]int8) {
+	whole := Crowd(seed, count+3, size+4)
+	all := slices.Clone(whole)
+	for i := range count {
+		all[i] = whole[i][:size]
+	}
+	return all[:count], func() [][]int8 {
+		now := Copies(whole)
+		for i, v := range all {
+			now = append(now, []int8{int8(len(v))})
+			if len(v) == 0 || &v[0] != &whole[i][0] {
+				now = append(now, nil)
+			}
+		}
+		return now
+	}
+}
+
+// Spoil writes over all that the lists have, their spare room too, and takes them out of theirs.
+func Spoil[T int8 | int64](lists [][]T) {
+	for _, list := range lists[:cap(lists)] {
+		list = list[:cap(list)]
+		for i := range list {
+			list[i] = 99
+		}
+	}
+	clear(lists[:cap(lists)])
+}

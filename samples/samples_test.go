@@ -67,11 +67,9 @@ func TestNoise(t *testing.T) {
 	}
 }
 
-func sameVectors(a, b [][]int8) bool { return slices.EqualFunc(a, b, slices.Equal[[]int8]) }
-
 func TestCrowd(t *testing.T) {
 	want := [][]int8{samples.Noise(5, 9), samples.Noise(1005, 9), samples.Noise(2005, 9)}
-	if l := samples.Crowd(5, 3, 9); !sameVectors(l, want) || slices.Equal(l[0], l[1]) {
+	if l := samples.Crowd(5, 3, 9); !samples.Same(l, want) || slices.Equal(l[0], l[1]) {
 		t.Errorf("%v", l)
 	}
 }
@@ -82,13 +80,73 @@ func TestFilled(t *testing.T) {
 	}
 	l := samples.FilledCrowd(2, 2, 4)
 	l[0][0] = 5
-	if !sameVectors(l, [][]int8{{5, 4}, {4, 4}}) {
+	if !samples.Same(l, [][]int8{{5, 4}, {4, 4}}) {
 		t.Errorf("%v", l)
 	}
 }
 
 func TestLine(t *testing.T) {
-	if l := samples.Line(1, -2, 3); !sameVectors(l, [][]int8{{1}, {-2}, {3}}) || samples.Line() != nil {
+	if l := samples.Line(1, -2, 3); !samples.Same(l, [][]int8{{1}, {-2}, {3}}) || samples.Line() != nil {
 		t.Errorf("%v", l)
+	}
+}
+
+func TestCut(t *testing.T) {
+	b := []byte{1, 255, 127, 128, 5}
+	for size, want := range map[int][][]int8{1: {{1}, {-1}, {127}, {-128}, {5}}, 2: {{1, -1}, {127, -128}}, 5: {{1, -1, 127, -128, 5}}, 6: nil} {
+		if l := samples.Cut(b, size); !samples.Same(l, want) {
+			t.Errorf("Cut(%d) = %v", size, l)
+		}
+	}
+}
+
+func TestSame(t *testing.T) {
+	for _, l := range [][][]int8{{{1, 2}, {4}}, {{1, 2}}, {{1, 2}, {3}, {4}}, {{3}, {1, 2}}, {{1, 2}, {3, 4}}, {{1, 2}, nil}, nil} {
+		if samples.Same(l, [][]int8{{1, 2}, {3}}) || samples.Same([][]int8{{1, 2}, {3}}, l) {
+			t.Errorf("%v", l)
+		}
+	}
+	if !samples.Same([][]int8{{1, 2}, {}}, [][]int8{{1, 2}, nil}) || !samples.Same(nil, [][]int8{}) {
+		t.Error("the same vectors")
+	}
+}
+
+func TestCopies(t *testing.T) {
+	l := [][]int8{{1, 2}, {3}}
+	copies := samples.Copies(l)
+	l[0][0] = 9
+	if !samples.Same(copies, [][]int8{{1, 2}, {3}}) || samples.Copies(nil) != nil {
+		t.Errorf("%v", copies)
+	}
+}
+
+// Whatever is changed is told.
+func TestRoomy(t *testing.T) {
+	for name, change := range map[string]func(l [][]int8){
+		"a number":              func(l [][]int8) { l[1][2]++ },
+		"a vector's spare room": func(l [][]int8) { l[1][:4][3]++ },
+		"a shorter vector":      func(l [][]int8) { l[1] = l[1][:2] },
+		"no vector":             func(l [][]int8) { l[0] = nil },
+		"another vector":        func(l [][]int8) { l[1] = slices.Clone(l[1]) },
+		"the list's spare room": func(l [][]int8) { l[:3][2] = l[0] },
+	} {
+		l, look := samples.Roomy(1, 2, 3)
+		ahead := look()
+		if !samples.Same(look(), ahead) || len(l) != 2 || len(l[1]) != 3 || cap(l) == 2 || cap(l[1]) == 3 {
+			t.Fatalf("%v", l)
+		}
+		change(l)
+		if samples.Same(look(), ahead) {
+			t.Errorf("%s is changed, and not told", name)
+		}
+	}
+}
+
+func TestSpoil(t *testing.T) {
+	v, w := []int8{1, 2, 3}, []int8{4}
+	l := [][]int8{v[:2], w}
+	samples.Spoil(l[:1])
+	if !slices.Equal(v, samples.Filled(3, 99)) || w[0] != 99 || l[0] != nil || l[1] != nil {
+		t.Errorf("%v, %v, %v", v, w, l)
 	}
 }

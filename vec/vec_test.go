@@ -558,14 +558,7 @@ func FuzzVec(f *testing.F) {
 		if size < 1 || size > api.MaxDim || len(b) < size || len(b) > size*api.MaxItems {
 			return
 		}
-		var l [][]int8
-		for part := range slices.Chunk(b[:len(b)-len(b)%size], size) {
-			v := make([]int8, size)
-			for i, c := range part {
-				v[i] = int8(c)
-			}
-			l = append(l, v)
-		}
+		l := samples.Cut(b, size)
 		checkMean(t, l, plainMean(l))
 		mean := mustMean(t, l)
 		var hits []api.Hit
