@@ -1,0 +1,93 @@
+package samples
+
+import (
+	"slices"
+
+	"lodestone/api"
+)
+
+// Linked makes a graph of one node for each Out: the i-th one has the ID 100 + i, and a vector of one number, i (as far as it goes).
+func Linked(start int, outs ...[]int) api.Graph {
+	g := api.Graph{Start: start}
+	for i, out := range outs {
+		g.Nodes = append(g.Nodes, api.Node{ID: uint64(100 + i), V: []int8{int8(i)}, Out: out})
+	}
+	return g
+}
+
+// Web makes a graph that may be, of so many nodes, with vectors of so many numbers, and so many neighbours at most, without a pattern, the same one for the same seed.
+func Web(seed uint64, count, size, degree int) api.Graph {
+	draw := Drawer(seed)
+	g := api.Graph{}
+	for own := range count {
+		id := draw()<<12 | uint64(own)
+		g.Nodes = append(g.Nodes, api.Node{ID: id, V: Noise(draw(), size), Out: webOut(draw, own, count, degree)})
+	}
+	if count > 0 {
+		g.Start = int(draw() % uint64(count))
+	}
+	return g
+}
+
+// webOut draws places of other nodes, unlike ones.
+func webOut(draw func() uint64, own, count, degree int) []int {
+	var out []int
+	for range draw() % uint64(degree+1) {
+		place := int(draw() % uint64(count))
+		if place != own && !slices.Contains(out, place) {
+			out = append(out, place)
+		}
+	}
+	return out
+}
+
+// SameGraph says whether two graphs have the same nodes, in order, and the same Start.
+func SameGraph(a, b api.Graph) bool {
+	return a.Start == b.Start && slices.EqualFunc(a.Nodes, b.Nodes, func(a, b api.Node) bool {
+		return a.ID == b.ID && slices.Equal(a.V, b.V) && slices.Equal(a.Out, b.Out)
+	})
+}
+
+// CopyGraph makes a copy of a graph, and of each list in it.
+func CopyGraph(g api.Graph) api.Graph {
+	g.Nodes = slices.Clone(g.Nodes)
+	for i, node := range g.Nodes {
+		g.Nodes[i].V, g.Nodes[i].Out = slices.Clone(node.V), slices.Clone(node.Out)
+	}
+	return g
+}
+
+// RoomyGraph makes a copy of a graph all of whose lists have spare room, and a function that tells what all of it looks like: if any of it is changed, it tells something else.
+func RoomyGraph(g api.Graph) (roomy api.Graph, look func() api.Graph) {
+	roomy = CopyGraph(g)
+	roomy.Nodes = append(roomy.Nodes, api.Node{ID: 1, V: []int8{2}, Out: []int{3}}, api.Node{ID: 4})
+	for i, node := range roomy.Nodes {
+		v, out := append(node.V, 5, 6, 7), append(node.Out, 8, 9, 10)
+		roomy.Nodes[i].V, roomy.Nodes[i].Out = v[:len(node.V)], out[:len(node.Out)]
+	}
+	all := roomy.Nodes
+	roomy.Nodes = all[:len(g.Nodes)]
+	return roomy, func() api.Graph {
+		now := CopyGraph(api.Graph{Nodes: all, Start: roomy.Start})
+		for i, node := range all {
+			now.Nodes[i].V = slices.Clone(node.V[:cap(node.V)])
+			now.Nodes[i].Out = append(slices.Clone(node.Out[:cap(node.Out)]), len(node.V), len(node.Out))
+		}
+		return now
+	}
+}
+
+// SpoilGraph writes over all that a graph's lists have, their spare room too.
+func SpoilGraph(g api.Graph) {
+	nodes := g.Nodes[:cap(g.Nodes)]
+	for i, node := range nodes {
+		v, out := node.V[:cap(node.V)], node.Out[:cap(node.Out)]
+		for j := range v {
+			v[j] = 99
+		}
+		for j := range out {
+			out[j] = 99
+		}
+		nodes[i] = api.Node{ID: 99}
+	}
+}

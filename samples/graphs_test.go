@@ -1,0 +1,116 @@
+package samples_test
+
+import (
+	"slices"
+	"testing"
+
+	"lodestone/api"
+	"lodestone/samples"
+)
+
+func TestLinked(t *testing.T) {
+	want := api.Graph{Start: 1, Nodes: []api.Node{{ID: 100, V: []int8{0}, Out: []int{1, 2}}, {ID: 101, V: []int8{1}}}}
+	if g := samples.Linked(1, []int{1, 2}, nil); !samples.SameGraph(g, want) {
+		t.Errorf("%v", g)
+	}
+	if g := samples.Linked(0); len(g.Nodes) != 0 || g.Start != 0 {
+		t.Errorf("%v", g)
+	}
+}
+
+func TestWeb(t *testing.T) {
+	for _, count := range []int{0, 1, 2, 50, api.MaxItems} {
+		g := samples.Web(1, count, 3, 5)
+		if len(g.Nodes) != count || !samples.SameGraph(g, samples.Web(1, count, 3, 5)) || g.Start < 0 || g.Start >= max(count, 1) {
+			t.Fatalf("%d nodes, Start %d", len(g.Nodes), g.Start)
+		}
+		ids, most := map[uint64]bool{}, 0
+		for own, node := range g.Nodes {
+			ids[node.ID] = true
+			unlike := slices.Compact(slices.Sorted(slices.Values(node.Out)))
+			most = max(most, len(node.Out))
+			if len(node.V) != 3 || len(unlike) != len(node.Out) || slices.Contains(node.Out, own) {
+				t.Errorf("%d: %v", own, node)
+			}
+		}
+		if len(ids) != count || most > 5 || count > 20 && most != 5 {
+			t.Errorf("%d IDs, %d neighbours at most", len(ids), most)
+		}
+	}
+	if samples.SameGraph(samples.Web(1, 9, 3, 5), samples.Web(2, 9, 3, 5)) {
+		t.Error("two seeds make the same")
+	}
+}
+
+func TestSameGraph(t *testing.T) {
+	some := func() api.Graph { return samples.Linked(1, []int{1, 2}, nil, []int{0}) }
+	for name, change := range map[string]func(g *api.Graph){
+		"the Start":   func(g *api.Graph) { g.Start = 0 },
+		"an ID":       func(g *api.Graph) { g.Nodes[2].ID++ },
+		"a number":    func(g *api.Graph) { g.Nodes[2].V[0]++ },
+		"a neighbour": func(g *api.Graph) { g.Nodes[2].Out[0]++ },
+		"the order":   func(g *api.Graph) { slices.Reverse(g.Nodes[0].Out) },
+		"a node less": func(g *api.Graph) { g.Nodes = g.Nodes[:2] },
+	} {
+		g := some()
+		if !samples.SameGraph(g, some()) {
+			t.Error("the same graphs")
+		}
+		change(&g)
+		if samples.SameGraph(g, some()) {
+			t.Errorf("%s is changed, and they are the same", name)
+		}
+	}
+	if !samples.SameGraph(api.Graph{}, api.Graph{Nodes: []api.Node{}}) {
+		t.Error("no nodes")
+	}
+}
+
+func TestCopyGraph(t *testing.T) {
+	g := samples.Web(1, 9, 3, 5)
+	other := samples.CopyGraph(g)
+	samples.SpoilGraph(g)
+	if !samples.SameGraph(other, samples.Web(1, 9, 3, 5)) {
+		t.Errorf("%v", other)
+	}
+}
+
+// Whatever is changed is told.
+func TestRoomyGraph(t *testing.T) {
+	for name, change := range map[string]func(g api.Graph){
+		"an ID":                     func(g api.Graph) { g.Nodes[1].ID++ },
+		"a number":                  func(g api.Graph) { g.Nodes[1].V[0]++ },
+		"a neighbour":               func(g api.Graph) { g.Nodes[1].Out[0]++ },
+		"a vector's spare room":     func(g api.Graph) { g.Nodes[1].V[:2][1]++ },
+		"an Out's spare room":       func(g api.Graph) { g.Nodes[0].Out[:1][0]++ },
+		"a shorter vector":          func(g api.Graph) { g.Nodes[1].V = g.Nodes[1].V[:0] },
+		"a shorter Out":             func(g api.Graph) { g.Nodes[1].Out = g.Nodes[1].Out[:0] },
+		"the nodes' spare room":     func(g api.Graph) { g.Nodes[:4][3].ID++ },
+		"the neighbours of a spare": func(g api.Graph) { g.Nodes[:3][2].Out[0]++ },
+	} {
+		want := samples.Linked(1, nil, []int{0})
+		g, look := samples.RoomyGraph(want)
+		ahead := look()
+		if !samples.SameGraph(g, want) || !samples.SameGraph(look(), ahead) {
+			t.Fatalf("%v", g)
+		}
+		change(g)
+		if samples.SameGraph(look(), ahead) {
+			t.Errorf("%s is changed, and not told", name)
+		}
+	}
+}
+
+func TestSpoilGraph(t *testing.T) {
+	g, look := samples.RoomyGraph(samples.Linked(0, []int{1}, []int{0}))
+	v, out := g.Nodes[0].V, g.Nodes[1].Out
+	samples.SpoilGraph(g)
+	if !slices.Equal(v[:3], samples.Filled(3, 99)) || !slices.Equal(out[:3], []int{99, 99, 99}) {
+		t.Errorf("%v, %v", v[:3], out[:3])
+	}
+	for _, node := range look().Nodes[:4] {
+		if node.ID != 99 || len(node.V) != 0 {
+			t.Errorf("%v", node)
+		}
+	}
+}
