@@ -15,21 +15,6 @@ func example() api.Graph {
 	return api.Graph{Nodes: []api.Node{{ID: 7, V: []int8{0}, Out: []int{1}}, {ID: 8, V: []int8{1}, Out: []int{2}}, {ID: 9, V: []int8{2}}, {ID: 10, V: []int8{3}, Out: []int{0}}}}
 }
 
-// least is the setup with the least numbers; vectors have so many.
-func least(dim int) api.Setup { return api.Setup{Dim: dim, Degree: 1, Beam: 1, Num: 1, Den: 1} }
-
-// most is the setup with the greatest numbers.
-func most() api.Setup {
-	return api.Setup{Dim: api.MaxDim, Degree: api.MaxDegree, Beam: api.MaxHits, Num: api.MaxAlpha, Den: api.MaxAlpha}
-}
-
-// wide lets vectors have so many numbers, and nodes as many neighbours as can be.
-func wide(dim int) api.Setup {
-	s := most()
-	s.Dim = dim
-	return s
-}
-
 // plainSetup is the document's words.
 func plainSetup(s api.Setup) bool {
 	return s.Dim >= 1 && s.Dim <= 64 && s.Degree >= 1 && s.Degree <= 32 && s.Beam >= 1 && s.Beam <= 256 &&
@@ -149,23 +134,17 @@ func checkSetup(t *testing.T, s api.Setup, want bool) {
 	}
 }
 
-// told is how a graph stands in a test's words: large ones are cut.
-func told(g api.Graph) api.Graph {
-	g.Nodes = g.Nodes[:min(len(g.Nodes), 20)]
-	return g
-}
-
 func checkGraph(t *testing.T, g api.Graph, s api.Setup, want bool) {
 	t.Helper()
 	if ok := graph.Check(g, s); ok != want {
-		t.Errorf("Check(%v (%d nodes), %+v) = %t", told(g), len(g.Nodes), s, ok)
+		t.Errorf("Check(%v (%d nodes), %+v) = %t", samples.TellGraph(g), len(g.Nodes), s, ok)
 	}
 }
 
 func checkFind(t *testing.T, g api.Graph, id uint64, want int) {
 	t.Helper()
 	if place := graph.Find(g, id); place != want {
-		t.Errorf("Find(%v (%d nodes), %d) = %d; want %d", told(g), len(g.Nodes), id, place, want)
+		t.Errorf("Find(%v (%d nodes), %d) = %d; want %d", samples.TellGraph(g), len(g.Nodes), id, place, want)
 	}
 }
 
@@ -173,7 +152,7 @@ func checkFind(t *testing.T, g api.Graph, id uint64, want int) {
 func checkHops(t *testing.T, g api.Graph, want ...int) {
 	t.Helper()
 	if hops, e := graph.Hops(g); !slices.Equal(hops, want) || e != api.OK {
-		t.Errorf("Hops(%v (%d nodes)) = %v, %d; want %v", told(g), len(g.Nodes), hops, e, want)
+		t.Errorf("Hops(%v (%d nodes)) = %v, %d; want %v", samples.TellGraph(g), len(g.Nodes), hops, e, want)
 	}
 	var places []int
 	for place, n := range want {
@@ -187,7 +166,7 @@ func checkHops(t *testing.T, g api.Graph, want ...int) {
 func checkReached(t *testing.T, g api.Graph, want ...int) {
 	t.Helper()
 	if places, e := graph.Reached(g); !slices.Equal(places, want) || e != api.OK {
-		t.Errorf("Reached(%v (%d nodes)) = %v, %d; want %v", told(g), len(g.Nodes), places, e, want)
+		t.Errorf("Reached(%v (%d nodes)) = %v, %d; want %v", samples.TellGraph(g), len(g.Nodes), places, e, want)
 	}
 }
 
@@ -201,14 +180,14 @@ func checkWalks(t *testing.T, g api.Graph) {
 func checkDrop(t *testing.T, g api.Graph, places []int, want api.Graph) {
 	t.Helper()
 	if left, e := graph.Drop(g, places); !samples.SameGraph(left, want) || e != api.OK {
-		t.Errorf("Drop(%v (%d nodes), %v) = %v, %d; want %v", told(g), len(g.Nodes), places, told(left), e, told(want))
+		t.Errorf("Drop(%v (%d nodes), %v) = %v, %d; want %v", samples.TellGraph(g), len(g.Nodes), places, samples.TellGraph(left), e, samples.TellGraph(want))
 	}
 }
 
 func checkNoDrop(t *testing.T, g api.Graph, places ...int) {
 	t.Helper()
 	if left, e := graph.Drop(g, places); len(left.Nodes) != 0 || left.Start != 0 || e != api.ErrArg {
-		t.Errorf("Drop(%v (%d nodes), %v) = %v, %d", told(g), len(g.Nodes), places, told(left), e)
+		t.Errorf("Drop(%v (%d nodes), %v) = %v, %d", samples.TellGraph(g), len(g.Nodes), places, samples.TellGraph(left), e)
 	}
 }
 
@@ -216,24 +195,24 @@ func checkNoDrop(t *testing.T, g api.Graph, places ...int) {
 func checkApart(t *testing.T, g api.Graph) {
 	t.Helper()
 	if hops, e := graph.Hops(g); len(hops) != 0 || e != api.ErrArg {
-		t.Errorf("Hops(%v (%d nodes)) = %v, %d", told(g), len(g.Nodes), hops, e)
+		t.Errorf("Hops(%v (%d nodes)) = %v, %d", samples.TellGraph(g), len(g.Nodes), hops, e)
 	}
 	if places, e := graph.Reached(g); len(places) != 0 || e != api.ErrArg {
-		t.Errorf("Reached(%v (%d nodes)) = %v, %d", told(g), len(g.Nodes), places, e)
+		t.Errorf("Reached(%v (%d nodes)) = %v, %d", samples.TellGraph(g), len(g.Nodes), places, e)
 	}
 	checkNoDrop(t, g)
 	checkNoDrop(t, g, 0)
 	checkNoDrop(t, g, samples.UpTo(len(g.Nodes))...)
 	checkNoDrop(t, g, len(g.Nodes))
 	checkNoDrop(t, g, 0, 0)
-	checkGraph(t, g, wide(1), false)
+	checkGraph(t, g, samples.WideSetup(1), false)
 }
 
 func mustHops(t *testing.T, g api.Graph) []int {
 	t.Helper()
 	hops, e := graph.Hops(g)
 	if e != api.OK {
-		t.Fatalf("Hops(%v): %d", told(g), e)
+		t.Fatalf("Hops(%v): %d", samples.TellGraph(g), e)
 	}
 	return hops
 }
@@ -242,7 +221,7 @@ func mustReach(t *testing.T, g api.Graph) []int {
 	t.Helper()
 	places, e := graph.Reached(g)
 	if e != api.OK {
-		t.Fatalf("Reached(%v): %d", told(g), e)
+		t.Fatalf("Reached(%v): %d", samples.TellGraph(g), e)
 	}
 	return places
 }
@@ -251,33 +230,15 @@ func mustDrop(t *testing.T, g api.Graph, places ...int) api.Graph {
 	t.Helper()
 	left, e := graph.Drop(g, places)
 	if e != api.OK {
-		t.Fatalf("Drop(%v, %v): %d", told(g), places, e)
+		t.Fatalf("Drop(%v, %v): %d", samples.TellGraph(g), places, e)
 	}
 	return left
-}
-
-// farNumbers are far from all places, and from all that a setup may have.
-func farNumbers() []int {
-	return []int{-1, -2, math.MinInt, math.MinInt + 1, -1 << 32, -1<<32 + 1, 1 << 32, 1<<32 + 1, 1<<32 + 2, 1 << 62, math.MaxInt}
-}
-
-// sets calls f with each list of numbers below n, rising.
-func sets(n int, f func([]int)) {
-	for bits := range 1 << n {
-		var list []int
-		for i := range n {
-			if bits>>i&1 == 1 {
-				list = append(list, i)
-			}
-		}
-		f(list)
-	}
 }
 
 // graphs calls f with each graph of so many nodes, whose neighbours stand rising, and with each Start.
 func graphs(count int, f func(api.Graph)) {
 	var outs [][]int
-	sets(count, func(out []int) { outs = append(outs, out) })
+	samples.Subsets(count, func(out []int) { outs = append(outs, out) })
 	own := make([][]int, count)
 	var put func(int)
 	put = func(at int) {
@@ -326,24 +287,19 @@ func ruled(count, start int) api.Graph {
 // P9.1
 
 func TestSetupKnown(t *testing.T) {
-	checkSetup(t, least(1), true)
-	checkSetup(t, most(), true)
+	checkSetup(t, samples.LeastSetup(1), true)
+	checkSetup(t, samples.MostSetup(), true)
 	checkSetup(t, api.Setup{Dim: 2, Degree: 3, Beam: 4, Num: 6, Den: 5}, true)
 	checkSetup(t, api.Setup{Dim: 0, Degree: 3, Beam: 4, Num: 6, Den: 5}, false)
 	checkSetup(t, api.Setup{Dim: 2, Degree: 3, Beam: 4, Num: 1, Den: 2}, false)
 	checkSetup(t, api.Setup{}, false)
 }
 
-// fields are a setup's numbers, one by one, with their limits.
-func fields(s *api.Setup) ([]*int, []int) {
-	return []*int{&s.Dim, &s.Degree, &s.Beam, &s.Num, &s.Den}, []int{64, 32, 256, 1000, 1000}
-}
-
 // Each number but Num and Den, whatever the others are.
 func TestSetupOfEachNumber(t *testing.T) {
 	for field := range 3 {
-		for _, s := range []api.Setup{least(1), most(), {Dim: 2, Degree: 3, Beam: 4, Num: 6, Den: 5}} {
-			numbers, limits := fields(&s)
+		for _, s := range []api.Setup{samples.LeastSetup(1), samples.MostSetup(), {Dim: 2, Degree: 3, Beam: 4, Num: 6, Den: 5}} {
+			numbers, limits := samples.SetupFields(&s)
 			for n := -3; n < 600; n++ {
 				*numbers[field] = n
 				checkSetup(t, s, n >= 1 && n <= limits[field])
@@ -356,36 +312,15 @@ func TestSetupOfEachMeasure(t *testing.T) {
 	ends := []int{-1, 0, 1, 2, 3, 499, 500, 501, 998, 999, 1000, 1001, 1002, 2000}
 	for _, num := range ends {
 		for _, den := range ends {
-			s := most()
+			s := samples.MostSetup()
 			s.Num, s.Den = num, den
 			checkSetup(t, s, 1 <= den && den <= num && num <= 1000)
 		}
 	}
 }
 
-// wrongSetups may not be: one number is wrong, or all of them.
-func wrongSetups() []api.Setup {
-	l := []api.Setup{{}, {Dim: -1, Degree: -1, Beam: -1, Num: -1, Den: -1}}
-	for _, good := range []api.Setup{least(1), wide(1), {Dim: 1, Degree: 3, Beam: 4, Num: 6, Den: 5}} {
-		for field := range 5 {
-			_, limits := fields(&good)
-			for _, n := range append(farNumbers(), 0, limits[field]+1, limits[field]+256) {
-				s := good
-				numbers, _ := fields(&s)
-				*numbers[field] = n
-				l = append(l, s)
-			}
-		}
-		good.Num, good.Den = 3, 4
-		l = append(l, good)
-		good.Num, good.Den = 999, 1000
-		l = append(l, good)
-	}
-	return l
-}
-
 func TestSetupRefuses(t *testing.T) {
-	for _, s := range wrongSetups() {
+	for _, s := range samples.WrongSetups() {
 		checkSetup(t, s, false)
 		checkGraph(t, api.Graph{}, s, false)
 		checkGraph(t, example(), s, false)
@@ -394,16 +329,16 @@ func TestSetupRefuses(t *testing.T) {
 }
 
 func TestCheckKnown(t *testing.T) {
-	checkGraph(t, example(), least(1), true)
-	checkGraph(t, example(), wide(1), true)
-	checkGraph(t, example(), least(2), false)
-	checkGraph(t, api.Graph{}, least(1), true)
-	checkGraph(t, api.Graph{Nodes: []api.Node{}}, most(), true)
-	checkGraph(t, api.Graph{Start: 1}, least(1), false)
-	checkGraph(t, samples.Linked(0, nil), least(1), true)
-	checkGraph(t, samples.Linked(1, nil), least(1), false)
-	checkGraph(t, samples.Linked(1, []int{1}, []int{0}), least(1), true)
-	checkGraph(t, samples.Linked(1, []int{1}, []int{1}), least(1), false)
+	checkGraph(t, example(), samples.LeastSetup(1), true)
+	checkGraph(t, example(), samples.WideSetup(1), true)
+	checkGraph(t, example(), samples.LeastSetup(2), false)
+	checkGraph(t, api.Graph{}, samples.LeastSetup(1), true)
+	checkGraph(t, api.Graph{Nodes: []api.Node{}}, samples.MostSetup(), true)
+	checkGraph(t, api.Graph{Start: 1}, samples.LeastSetup(1), false)
+	checkGraph(t, samples.Linked(0, nil), samples.LeastSetup(1), true)
+	checkGraph(t, samples.Linked(1, nil), samples.LeastSetup(1), false)
+	checkGraph(t, samples.Linked(1, []int{1}, []int{0}), samples.LeastSetup(1), true)
+	checkGraph(t, samples.Linked(1, []int{1}, []int{1}), samples.LeastSetup(1), false)
 }
 
 // Drawn graphs may be for setups of just so many numbers, and of at least so many neighbours.
@@ -416,10 +351,10 @@ func TestCheckOfEachSetup(t *testing.T) {
 			greatest = max(greatest, len(node.Out))
 		}
 		for other := 1; other <= api.MaxDim; other++ {
-			checkGraph(t, g, wide(other), other == dim)
+			checkGraph(t, g, samples.WideSetup(other), other == dim)
 		}
 		for other := 1; other <= api.MaxDegree; other++ {
-			s := wide(dim)
+			s := samples.WideSetup(dim)
 			s.Degree = other
 			checkGraph(t, g, s, other >= greatest)
 		}
@@ -429,9 +364,9 @@ func TestCheckOfEachSetup(t *testing.T) {
 // Whether a graph may be does not hang on how wide a search is, and on the measure.
 func TestCheckOfOtherNumbers(t *testing.T) {
 	for _, g := range []api.Graph{example(), ruled(40, 3), {}, {Start: 1}} {
-		want := graph.Check(g, wide(1))
+		want := graph.Check(g, samples.WideSetup(1))
 		for _, n := range []int{1, 2, 99, 256} {
-			s := wide(1)
+			s := samples.WideSetup(1)
 			s.Beam, s.Num, s.Den = n, n+1, n
 			checkGraph(t, g, s, want)
 		}
@@ -439,15 +374,8 @@ func TestCheckOfOtherNumbers(t *testing.T) {
 }
 
 func TestCheckAtTheLimits(t *testing.T) {
-	full := api.Graph{Start: api.MaxItems - 1}
-	for own := range api.MaxItems {
-		var out []int
-		for step := range api.MaxDegree {
-			out = append(out, (own+7*(step+1))%api.MaxItems)
-		}
-		full.Nodes = append(full.Nodes, api.Node{ID: uint64(api.MaxNumber - own), V: samples.Filled(api.MaxDim, -128), Out: out})
-	}
-	checkGraph(t, full, most(), true)
+	full := samples.FullGraph()
+	checkGraph(t, full, samples.MostSetup(), true)
 	last := &full.Nodes[api.MaxItems-1]
 	for name, change := range map[string]func(){
 		"one more neighbour":        func() { last.Out = append(last.Out, 0) },
@@ -468,12 +396,12 @@ func TestCheckAtTheLimits(t *testing.T) {
 		ahead, start, nodes := *last, full.Start, full.Nodes
 		last.Out = slices.Clone(last.Out)
 		change()
-		if graph.Check(full, most()) {
+		if graph.Check(full, samples.MostSetup()) {
 			t.Errorf("%s may not be", name)
 		}
 		full.Nodes, full.Start, *last = nodes, start, ahead
 	}
-	checkGraph(t, full, most(), true)
+	checkGraph(t, full, samples.MostSetup(), true)
 }
 
 func TestCheckOfEachStart(t *testing.T) {
@@ -481,7 +409,7 @@ func TestCheckOfEachStart(t *testing.T) {
 		g := samples.Web(1, count, 1, 2)
 		for start := -3; start < 12; start++ {
 			g.Start = start
-			checkGraph(t, g, wide(1), start == 0 || start > 0 && start < count)
+			checkGraph(t, g, samples.WideSetup(1), start == 0 || start > 0 && start < count)
 		}
 	}
 }
@@ -492,17 +420,17 @@ func TestCheckOfIDs(t *testing.T) {
 		for b := range a {
 			g := samples.Web(1, 20, 1, 2)
 			g.Nodes[a].ID = g.Nodes[b].ID
-			checkGraph(t, g, wide(1), false)
+			checkGraph(t, g, samples.WideSetup(1), false)
 			g.Nodes[a].ID = api.MaxNumber
 			g.Nodes[b].ID = 0
-			checkGraph(t, g, wide(1), true)
+			checkGraph(t, g, samples.WideSetup(1), true)
 		}
 	}
 	for _, id := range []uint64{1 << 62, 1<<62 + 1, 1 << 63, math.MaxUint64, math.MaxUint64 - 1} {
 		for place := range 3 {
 			g := samples.Web(1, 3, 1, 2)
 			g.Nodes[place].ID = id
-			checkGraph(t, g, wide(1), false)
+			checkGraph(t, g, samples.WideSetup(1), false)
 		}
 	}
 }
@@ -514,7 +442,7 @@ func TestCheckOfVectors(t *testing.T) {
 			for _, other := range []int{0, dim - 1, dim + 1, dim + 256, 1000} {
 				g := samples.Web(1, 4, dim, 2)
 				g.Nodes[place].V = samples.Noise(1, other)
-				checkGraph(t, g, wide(dim), false)
+				checkGraph(t, g, samples.WideSetup(dim), false)
 			}
 		}
 	}
@@ -546,7 +474,7 @@ func TestCheckOfEachOut(t *testing.T) {
 					g := samples.Web(1, count, 1, 0)
 					g.Nodes[place].Out = out
 					for degree := 1; degree <= 4; degree++ {
-						s := least(1)
+						s := samples.LeastSetup(1)
 						s.Degree = degree
 						checkGraph(t, g, s, plainCheck(g, s))
 					}
@@ -560,7 +488,7 @@ func TestCheckOfEachGraph(t *testing.T) {
 	for count := range 4 {
 		graphs(count, func(g api.Graph) {
 			for degree := 1; degree <= 3; degree++ {
-				s := least(1)
+				s := samples.LeastSetup(1)
 				s.Degree = degree
 				checkGraph(t, g, s, plainCheck(g, s))
 			}
@@ -739,7 +667,7 @@ func TestWalksOfGraphsThatMayNotBe(t *testing.T) {
 		g.Nodes[i].ID = math.MaxUint64
 		g.Nodes[i].V = samples.Noise(1, 100*i)
 	}
-	checkGraph(t, g, wide(1), false)
+	checkGraph(t, g, samples.WideSetup(1), false)
 	checkHops(t, g, 0, 1, 1, 2, -1)
 	checkFind(t, g, math.MaxUint64, 0)
 	checkDrop(t, g, []int{1, 3}, plainDrop(g, []int{1, 3}))
@@ -747,7 +675,7 @@ func TestWalksOfGraphsThatMayNotBe(t *testing.T) {
 
 func TestCallsRefuseAStart(t *testing.T) {
 	for _, count := range []int{0, 1, 2, 9, api.MaxItems} {
-		for _, start := range append(farNumbers(), count, count+1, 256+count, api.MaxItems, api.MaxItems+1) {
+		for _, start := range append(samples.FarNumbers(), count, count+1, 256+count, api.MaxItems, api.MaxItems+1) {
 			g := samples.Web(1, count, 1, 2)
 			if g.Start = start; start != 0 {
 				checkApart(t, g)
@@ -759,7 +687,7 @@ func TestCallsRefuseAStart(t *testing.T) {
 // A place that is none of a node, wherever it stands, and whether or not its node is reached.
 func TestCallsRefuseNeighbours(t *testing.T) {
 	for _, count := range []int{1, 2, 5} {
-		for _, wrong := range append(farNumbers(), count, count+1, 256, 256+count, api.MaxItems) {
+		for _, wrong := range append(samples.FarNumbers(), count, count+1, 256, 256+count, api.MaxItems) {
 			for own := range count {
 				for at := range 3 {
 					g := samples.Web(1, count, 1, 0)
@@ -825,7 +753,7 @@ func TestDropReckonedOutside(t *testing.T) {
 func TestDropOfEachGraph(t *testing.T) {
 	for count := range 4 {
 		graphs(count, func(g api.Graph) {
-			sets(count, func(dropped []int) {
+			samples.Subsets(count, func(dropped []int) {
 				want := plainDrop(g, dropped)
 				samples.Orders(dropped, func(order []int) { checkDrop(t, g, order, want) })
 			})
@@ -855,7 +783,7 @@ func TestDropOfTheStart(t *testing.T) {
 	for start := range 6 {
 		g := samples.Web(1, 6, 1, 3)
 		g.Start = start
-		sets(6, func(dropped []int) {
+		samples.Subsets(6, func(dropped []int) {
 			left := mustDrop(t, g, dropped...)
 			if slices.Contains(dropped, start) {
 				if left.Start != 0 {
@@ -894,7 +822,7 @@ func TestDropRefusesPlaces(t *testing.T) {
 	for _, count := range []int{0, 1, 2, 9, api.MaxItems} {
 		g := samples.Web(1, count, 1, 2)
 		all := samples.UpTo(count)
-		for _, wrong := range append(farNumbers(), count, count+1, count+256, api.MaxItems, api.MaxItems+1) {
+		for _, wrong := range append(samples.FarNumbers(), count, count+1, count+256, api.MaxItems, api.MaxItems+1) {
 			checkNoDrop(t, g, wrong)
 			checkNoDrop(t, g, append(slices.Clone(all), wrong)...)
 			checkNoDrop(t, g, append([]int{wrong}, all...)...)
@@ -932,16 +860,16 @@ func TestDropAtTheLimits(t *testing.T) {
 func TestWhatIsLeftMayBe(t *testing.T) {
 	for count := range 4 {
 		graphs(count, func(g api.Graph) {
-			sets(count, func(dropped []int) {
-				if graph.Check(g, wide(1)) {
-					checkGraph(t, mustDrop(t, g, dropped...), wide(1), true)
+			samples.Subsets(count, func(dropped []int) {
+				if graph.Check(g, samples.WideSetup(1)) {
+					checkGraph(t, mustDrop(t, g, dropped...), samples.WideSetup(1), true)
 				}
 			})
 		})
 	}
 	for seed := range uint64(50) {
 		g := samples.Web(seed, 40, 3, 5)
-		s := wide(3)
+		s := samples.WideSetup(3)
 		s.Degree = 5
 		draw := samples.Drawer(seed)
 		for len(g.Nodes) > 0 {
@@ -992,11 +920,11 @@ func TestSomeNodeIsOneStepNearer(t *testing.T) {
 func TestArgumentsStayAsTheyAre(t *testing.T) {
 	g, look := samples.RoomyGraph(samples.Web(1, 30, 4, 6))
 	room := []int{3, 7, 0, 12, 12}
-	s := wide(4)
+	s := samples.WideSetup(4)
 	ahead := look()
 	for range 2 {
 		checkGraph(t, g, s, true)
-		checkGraph(t, g, wide(5), false)
+		checkGraph(t, g, samples.WideSetup(5), false)
 		checkFind(t, g, g.Nodes[7].ID, 7)
 		mustHops(t, g)
 		mustReach(t, g)
@@ -1007,7 +935,7 @@ func TestArgumentsStayAsTheyAre(t *testing.T) {
 	if !samples.SameGraph(look(), ahead) {
 		t.Errorf("the graph is %v; it was %v", look(), ahead)
 	}
-	if !slices.Equal(room, []int{3, 7, 0, 12, 12}) || s != wide(4) {
+	if !slices.Equal(room, []int{3, 7, 0, 12, 12}) || s != samples.WideSetup(4) {
 		t.Errorf("the places are %v, the setup %v", room, s)
 	}
 }
@@ -1017,16 +945,16 @@ func TestSpareRoomDoesNotCount(t *testing.T) {
 	for seed := range uint64(20) {
 		plain := samples.Web(seed, 30, 4, 6)
 		g, _ := samples.RoomyGraph(plain)
-		checkGraph(t, g, wide(4), true)
+		checkGraph(t, g, samples.WideSetup(4), true)
 		checkWalks(t, g)
 		checkFind(t, g, 1, -1)
 		checkDrop(t, g, []int{5, 29, 0, 0}[:3], plainDrop(plain, []int{5, 29, 0}))
 	}
 	full, _ := samples.RoomyGraph(samples.Web(1, api.MaxItems, 1, 2))
-	checkGraph(t, full, wide(1), true)
+	checkGraph(t, full, samples.WideSetup(1), true)
 	checkHops(t, full, plainHops(full)...)
 	none, _ := samples.RoomyGraph(api.Graph{})
-	checkGraph(t, none, wide(1), true)
+	checkGraph(t, none, samples.WideSetup(1), true)
 	checkHops(t, none)
 	checkDrop(t, none, nil, api.Graph{})
 }
@@ -1106,7 +1034,7 @@ func TestListsOfAnAnswerShareNoMemory(t *testing.T) {
 func TestCallsAheadChangeNothing(t *testing.T) {
 	big := samples.Web(3, 200, 2, 4)
 	for range 3 {
-		checkGraph(t, example(), least(1), true)
+		checkGraph(t, example(), samples.LeastSetup(1), true)
 		checkFind(t, example(), 9, 2)
 		checkHops(t, example(), 0, 1, 2, -1)
 		checkDrop(t, example(), []int{1}, plainDrop(example(), []int{1}))
@@ -1114,7 +1042,7 @@ func TestCallsAheadChangeNothing(t *testing.T) {
 		mustDrop(t, big, 7, 8, 9)
 		checkApart(t, api.Graph{Start: 1})
 		checkNoDrop(t, big, 200)
-		checkGraph(t, big, least(2), false)
+		checkGraph(t, big, samples.LeastSetup(2), false)
 	}
 }
 
@@ -1135,33 +1063,6 @@ func TestCallsSideBySide(t *testing.T) {
 	}
 }
 
-// bent makes of bytes a graph that may be, or may just not be: now and then something in it is wrong.
-func bent(draw func() uint64) api.Graph {
-	g := samples.Web(draw(), int(draw()%20), int(1+draw()%3), int(draw()%5))
-	wrong := func() int { return int(draw()%30) - 5 }
-	for place := range g.Nodes {
-		node := &g.Nodes[place]
-		switch draw() {
-		case 1:
-			node.Out = append(node.Out, wrong())
-		case 2:
-			node.Out = append(node.Out, wrong(), wrong())
-		case 3:
-			node.ID = g.Nodes[draw()%uint64(len(g.Nodes))].ID
-		case 4:
-			node.ID |= 1 << 62
-		case 5:
-			node.V = append(node.V, 0)
-		case 6:
-			node.V = nil
-		}
-	}
-	if draw() > 200 {
-		g.Start = wrong()
-	}
-	return g
-}
-
 // FuzzGraph holds all calls of a graph that is made of bytes against the plain ones.
 func FuzzGraph(f *testing.F) {
 	f.Add([]byte{1, 10, 2, 3}, 1, 4, 100)
@@ -1169,7 +1070,7 @@ func FuzzGraph(f *testing.F) {
 	f.Add([]byte{5, 6, 1, 2, 3, 4, 0, 5, 6, 0, 0, 255, 12}, 1, 32, 1)
 	f.Fuzz(func(t *testing.T, bytes []byte, dim, degree, id int) {
 		draw := samples.Bytes(bytes)
-		g := bent(draw)
+		g := samples.BentGraph(draw)
 		s := api.Setup{Dim: dim, Degree: degree, Beam: 9, Num: 3, Den: 2}
 		checkSetup(t, s, plainSetup(s))
 		checkGraph(t, g, s, plainCheck(g, s))
@@ -1195,7 +1096,7 @@ func FuzzGraph(f *testing.F) {
 func BenchmarkCheck(b *testing.B) {
 	g := samples.Web(1, api.MaxItems, api.MaxDim, api.MaxDegree)
 	for b.Loop() {
-		graph.Check(g, most())
+		graph.Check(g, samples.MostSetup())
 	}
 }
 

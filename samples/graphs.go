@@ -91,3 +91,85 @@ func SpoilGraph(g api.Graph) {
 		nodes[i] = api.Node{ID: 99}
 	}
 }
+
+// FullGraph makes a graph that may be, with as many nodes, neighbours and numbers as can be, and the greatest IDs.
+func FullGraph() api.Graph {
+	g := api.Graph{Start: api.MaxItems - 1}
+	for own := range api.MaxItems {
+		var out []int
+		for step := range api.MaxDegree {
+			out = append(out, (own+7*(step+1))%api.MaxItems)
+		}
+		g.Nodes = append(g.Nodes, api.Node{ID: api.MaxNumber - uint64(own), V: Filled(api.MaxDim, -128), Out: out})
+	}
+	return g
+}
+
+// Fault is a graph that may not be, and what is wrong with it.
+type Fault struct {
+	Name  string
+	Graph api.Graph
+}
+
+// Faults makes graphs that may not be, each with one fault, of one that may be for that degree, and has at least two nodes more.
+func Faults(g api.Graph, degree int) []Fault {
+	count := len(g.Nodes)
+	var faults []Fault
+	add := func(name string, change func(g *api.Graph, last *api.Node)) {
+		other := CopyGraph(g)
+		change(&other, &other.Nodes[count-1])
+		faults = append(faults, Fault{name, other})
+	}
+	add("a Start too high", func(g *api.Graph, _ *api.Node) { g.Start = count })
+	add("a Start below 0", func(g *api.Graph, _ *api.Node) { g.Start = -1 })
+	add("one more neighbour", func(_ *api.Graph, last *api.Node) { last.Out = UpTo(degree + 1) })
+	add("a neighbour twice", func(_ *api.Graph, last *api.Node) { last.Out = []int{0, 0} })
+	add("itself", func(_ *api.Graph, last *api.Node) { last.Out = []int{count - 1} })
+	add("a place too high", func(_ *api.Graph, last *api.Node) { last.Out = []int{count} })
+	add("a place below 0", func(_ *api.Graph, last *api.Node) { last.Out = []int{-1} })
+	add("one more number", func(_ *api.Graph, last *api.Node) { last.V = append(last.V, 0) })
+	add("a number less", func(_ *api.Graph, last *api.Node) { last.V = last.V[1:] })
+	add("no number", func(_ *api.Graph, last *api.Node) { last.V = nil })
+	add("an ID twice", func(g *api.Graph, last *api.Node) { last.ID = g.Nodes[0].ID })
+	add("an ID above MaxNumber", func(_ *api.Graph, last *api.Node) { last.ID = api.MaxNumber + 1 })
+	add("the greatest of all IDs", func(_ *api.Graph, last *api.Node) { last.ID = 1<<64 - 1 })
+	add("a node more than MaxItems", func(g *api.Graph, last *api.Node) {
+		for place := count; place <= api.MaxItems; place++ {
+			g.Nodes = append(g.Nodes, api.Node{ID: api.MaxNumber - uint64(place), V: slices.Clone(last.V)})
+		}
+	})
+	return faults
+}
+
+// BentGraph makes of what is drawn a graph that may be, or may just not be: now and then something in it is wrong.
+func BentGraph(draw func() uint64) api.Graph {
+	g := Web(draw(), int(draw()%20), int(1+draw()%3), int(draw()%5))
+	wrong := func() int { return int(draw()%30) - 5 }
+	for place := range g.Nodes {
+		node := &g.Nodes[place]
+		switch draw() {
+		case 1:
+			node.Out = append(node.Out, wrong())
+		case 2:
+			node.Out = append(node.Out, wrong(), wrong())
+		case 3:
+			node.ID = g.Nodes[draw()%uint64(len(g.Nodes))].ID
+		case 4:
+			node.ID |= 1 << 62
+		case 5:
+			node.V = append(node.V, 0)
+		case 6:
+			node.V = nil
+		}
+	}
+	if draw() > 200 {
+		g.Start = wrong()
+	}
+	return g
+}
+
+// TellGraph is how a graph stands in a test's words: large ones are cut.
+func TellGraph(g api.Graph) api.Graph {
+	g.Nodes = g.Nodes[:min(len(g.Nodes), 20)]
+	return g
+}

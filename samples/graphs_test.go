@@ -5,6 +5,7 @@ import (
 	"testing"
 
 	"lodestone/api"
+	"lodestone/graph"
 	"lodestone/samples"
 )
 
@@ -111,6 +112,67 @@ func TestSpoilGraph(t *testing.T) {
 	for _, node := range look().Nodes[:4] {
 		if node.ID != 99 || len(node.V) != 0 {
 			t.Errorf("%v", node)
+		}
+	}
+}
+
+// A full graph may be, and not with one more of anything.
+func TestFullGraph(t *testing.T) {
+	g, s := samples.FullGraph(), samples.MostSetup()
+	if !graph.Check(g, s) || len(g.Nodes) != api.MaxItems || g.Nodes[0].ID != api.MaxNumber {
+		t.Errorf("%v", samples.TellGraph(g))
+	}
+	for _, node := range g.Nodes {
+		if len(node.Out) != api.MaxDegree || len(node.V) != api.MaxDim {
+			t.Fatalf("%v", node)
+		}
+	}
+}
+
+func TestFaults(t *testing.T) {
+	for _, degree := range []int{1, 5, api.MaxDegree} {
+		g, s := samples.Web(1, degree+2, 2, degree), samples.WideSetup(2)
+		s.Degree = degree
+		if !graph.Check(g, s) {
+			t.Fatalf("%v", g)
+		}
+		names := map[string]int{}
+		for _, fault := range samples.Faults(g, degree) {
+			if graph.Check(fault.Graph, s) {
+				t.Errorf("%s: %v", fault.Name, samples.TellGraph(fault.Graph))
+			}
+			names[fault.Name]++
+		}
+		if len(names) != 14 || !samples.SameGraph(g, samples.Web(1, degree+2, 2, degree)) {
+			t.Errorf("%d faults of %v", len(names), g)
+		}
+	}
+}
+
+// Some of them may be, and some may not.
+func TestBentGraph(t *testing.T) {
+	may := 0
+	for seed := range uint64(200) {
+		draw := samples.Drawer(seed)
+		bytes := func() uint64 { return draw() % 256 }
+		g := samples.BentGraph(bytes)
+		for dim := 1; dim <= 3; dim++ {
+			if graph.Check(g, samples.WideSetup(dim)) && len(g.Nodes) > 0 {
+				may++
+			}
+		}
+	}
+	if may < 50 || may > 180 {
+		t.Errorf("%d of 200 may be", may)
+	}
+}
+
+func TestTellGraph(t *testing.T) {
+	for _, count := range []int{0, 1, 20, 21, 500} {
+		g := samples.Web(1, count, 1, 2)
+		told := samples.TellGraph(g)
+		if len(told.Nodes) != min(count, 20) || len(g.Nodes) != count || told.Start != g.Start {
+			t.Errorf("%d nodes of %d", len(told.Nodes), count)
 		}
 	}
 }

@@ -51,6 +51,19 @@ func UpTo(n int) []int {
 	return l
 }
 
+// Subsets calls f with each list of numbers below n, rising.
+func Subsets(n int, f func([]int)) {
+	for bits := range 1 << n {
+		var list []int
+		for i := range n {
+			if bits>>i&1 == 1 {
+				list = append(list, i)
+			}
+		}
+		f(list)
+	}
+}
+
 // Noise makes a vector of so many numbers without a pattern, the same one for the same seed.
 func Noise(seed uint64, size int) []int8 {
 	draw := Drawer(seed)

@@ -55,6 +55,15 @@ func TestUpTo(t *testing.T) {
 	}
 }
 
+func TestSubsets(t *testing.T) {
+	var all [][]int
+	samples.Subsets(3, func(list []int) { all = append(all, list) })
+	want := [][]int{nil, {0}, {1}, {0, 1}, {2}, {0, 2}, {1, 2}, {0, 1, 2}}
+	if !slices.EqualFunc(all, want, slices.Equal[[]int]) {
+		t.Errorf("%v", all)
+	}
+}
+
 func TestNoise(t *testing.T) {
 	for _, size := range []int{0, 1, 64, 1000} {
 		a, b := samples.Noise(1, size), samples.Noise(1, size)
