@@ -11,31 +11,9 @@ import (
 	"lodestone/samples"
 )
 
-// dots makes a graph of the vectors, whose IDs are their places, without neighbours.
-func dots(vectors ...[]int8) api.Graph {
-	g := api.Graph{}
-	for i, v := range vectors {
-		g.Nodes = append(g.Nodes, api.Node{ID: uint64(i), V: v})
-	}
-	return g
-}
-
-// onLine makes a graph of vectors of one number each.
-func onLine(list ...int8) api.Graph { return dots(samples.Line(list...)...) }
-
 // setup is one for vectors of so many numbers.
 func setup(dim, degree, num, den int) api.Setup {
 	return api.Setup{Dim: dim, Degree: degree, Beam: 1, Num: num, Den: den}
-}
-
-// ruled makes a graph by a rule that the numbers reckoned outside know too.
-func ruled(count int) api.Graph {
-	g := api.Graph{}
-	for i := range count {
-		v := []int8{int8((37*i*i+11*i)%201 - 100), int8((53*i+7*i*i*i)%181 - 90)}
-		g.Nodes = append(g.Nodes, api.Node{ID: uint64((29*i + 5) % 97), V: v})
-	}
-	return g
 }
 
 // plainApart is the document's words.
@@ -149,7 +127,7 @@ func measures() [][2]int {
 // P10.1
 
 func TestKeepKnown(t *testing.T) {
-	g, s := onLine(0, 1, 2, -3), setup(1, 2, 1, 1)
+	g, s := samples.OnLine(0, 1, 2, -3), setup(1, 2, 1, 1)
 	checkKeep(t, g, s, 0, []int{3, 2, 1, 1, 0}, 1, 3)
 	checkKeep(t, g, s, 3, []int{0, 1, 2}, 0)
 	checkKeep(t, g, s, 0, nil)
@@ -164,7 +142,7 @@ func TestKeepKnown(t *testing.T) {
 	checkKeep(t, g, setup(1, 3, 5, 1), 0, []int{1, 2, 3}, 1, 2, 3)
 	checkKeep(t, g, setup(1, 3, 4, 1), 0, []int{1, 2, 3}, 1, 3)
 	checkKeep(t, g, setup(1, 1, 5, 1), 0, []int{3, 2}, 2)
-	checkKeep(t, onLine(5), s, 0, []int{0, 0})
+	checkKeep(t, samples.OnLine(5), s, 0, []int{0, 0})
 }
 
 // Numbers reckoned outside the program.
@@ -200,21 +178,21 @@ func TestKeepReckonedOutside(t *testing.T) {
 		{90, 89, 32, 6, 5, []int{6, 48, 11}},
 		{90, 89, 32, 2, 1, []int{6, 28, 62, 34, 54, 67}},
 	} {
-		checkKeep(t, ruled(c.count), setup(2, c.degree, c.num, c.den), c.at, samples.UpTo(c.count), c.want...)
+		checkKeep(t, samples.Ruled(c.count), setup(2, c.degree, c.num, c.den), c.at, samples.UpTo(c.count), c.want...)
 	}
 	var third []int
 	for i := range 100 {
 		third = append(third, i*3%90)
 	}
-	checkKeep(t, ruled(90), setup(2, 32, 3, 2), 1, third, 45, 21, 33, 87, 72, 54)
-	checkKeep(t, ruled(90), setup(2, 32, 3, 2), 2, third, 3, 18, 60, 0)
-	checkKeep(t, ruled(90), setup(2, 32, 3, 2), 3, third, 18, 60, 0)
+	checkKeep(t, samples.Ruled(90), setup(2, 32, 3, 2), 1, third, 45, 21, 33, 87, 72, 54)
+	checkKeep(t, samples.Ruled(90), setup(2, 32, 3, 2), 2, third, 3, 18, 60, 0)
+	checkKeep(t, samples.Ruled(90), setup(2, 32, 3, 2), 3, third, 18, 60, 0)
 }
 
 // All graphs of four numbers from 0 to 3, with rising IDs, and with falling ones.
 func TestKeepOfEachLine(t *testing.T) {
 	for code := range 256 {
-		g := onLine(int8(code&3), int8(code>>2&3), int8(code>>4&3), int8(code>>6))
+		g := samples.OnLine(int8(code&3), int8(code>>2&3), int8(code>>4&3), int8(code>>6))
 		for range 2 {
 			for i := range g.Nodes {
 				g.Nodes[i].ID = uint64(3) - g.Nodes[i].ID
@@ -229,7 +207,7 @@ func TestKeepOfEachLine(t *testing.T) {
 }
 
 func TestKeepOfEachSetOfPlaces(t *testing.T) {
-	g := ruled(7)
+	g := samples.Ruled(7)
 	for at := range g.Nodes {
 		samples.Subsets(7, func(places []int) {
 			for degree := 1; degree <= 6; degree += 2 {
@@ -242,7 +220,7 @@ func TestKeepOfEachSetOfPlaces(t *testing.T) {
 
 // The order in which places are handed in, and how often one is, count nothing.
 func TestKeepOfEachOrder(t *testing.T) {
-	g, s := onLine(0, 4, -4, 4, 9, -7, 20), setup(1, 4, 5, 1)
+	g, s := samples.OnLine(0, 4, -4, 4, 9, -7, 20), setup(1, 4, 5, 1)
 	for at := range g.Nodes {
 		want := plainKeep(g, s, at, samples.UpTo(7))
 		samples.Orders(samples.UpTo(7), func(places []int) { checkKeep(t, g, s, at, places, want...) })
@@ -270,7 +248,7 @@ func TestKeepOfDrawnGraphs(t *testing.T) {
 
 // Of places that are as far, those with less IDs come first, wherever they stand in the graph.
 func TestKeepGoesByIDs(t *testing.T) {
-	g := onLine(0, 5, -5, 9)
+	g := samples.OnLine(0, 5, -5, 9)
 	samples.Orders([]int{0, 1, 2, 3}, func(ids []int) {
 		for i := range g.Nodes {
 			g.Nodes[i].ID = uint64(ids[i])
@@ -293,7 +271,7 @@ func TestKeepGoesByIDs(t *testing.T) {
 
 // A place with the node's own vector is the nearest; others with this vector are needless beside it, whatever the measure is.
 func TestKeepOfSameVectors(t *testing.T) {
-	g := onLine(3, 3, 3, 7, 7, 3)
+	g := samples.OnLine(3, 3, 3, 7, 7, 3)
 	for _, measure := range measures()[1:] {
 		want := []int{1}
 		if measure[0] > measure[1] {
@@ -303,13 +281,13 @@ func TestKeepOfSameVectors(t *testing.T) {
 		checkKeep(t, g, setup(1, 9, measure[0], measure[1]), 0, []int{4, 5, 3, 2}, append([]int{2}, want[1:]...)...)
 		checkKeep(t, g, setup(1, 9, measure[0], measure[1]), 0, []int{4, 3}, 3)
 	}
-	checkKeep(t, onLine(8, 8, 8, 8), setup(1, 32, 1000, 1), 2, samples.UpTo(4), 0)
+	checkKeep(t, samples.OnLine(8, 8, 8, 8), setup(1, 32, 1000, 1), 2, samples.UpTo(4), 0)
 }
 
 // From 0 on a line: 10 beside one that is kept, at n. Num times what is between may be just Den times how far it is.
 func TestKeepAtTheMeasure(t *testing.T) {
 	for n := 1; n < 10; n++ {
-		g, between := onLine(0, int8(n), 10), (10-n)*(10-n)
+		g, between := samples.OnLine(0, int8(n), 10), (10-n)*(10-n)
 		for _, den := range []int{1, 2, 3, 9, 81, 100, 999, 1000} {
 			for num := den; num <= api.MaxAlpha; num++ {
 				s := setup(1, 2, num, den)
@@ -326,7 +304,7 @@ func TestKeepAtTheMeasure(t *testing.T) {
 
 // One that is needless itself makes no other one needless: 2 is so beside 1, and 4 would be so beside 2 alone.
 func TestKeepHoldsAgainstThoseThatAreKept(t *testing.T) {
-	g := onLine(0, 10, 14, 18, 27)
+	g := samples.OnLine(0, 10, 14, 18, 27)
 	s := setup(1, 4, 3, 1)
 	checkDomination(t, g, s, 0, 1, 2, true)
 	checkDomination(t, g, s, 0, 2, 4, true)
@@ -338,7 +316,7 @@ func TestKeepHoldsAgainstThoseThatAreKept(t *testing.T) {
 
 // Places in directions of their own: none makes another one needless, so Degree of them are kept.
 func TestKeepUntilDegree(t *testing.T) {
-	g := dots(make([]int8, api.MaxDim))
+	g := samples.Dots(make([]int8, api.MaxDim))
 	for place := range api.MaxDim {
 		v := make([]int8, api.MaxDim)
 		v[place] = int8(100 - place)
@@ -397,7 +375,7 @@ func TestKeepAtTheLimits(t *testing.T) {
 func TestKeepOfGreatProducts(t *testing.T) {
 	for changed := range api.MaxDim + 1 {
 		v := append(samples.Filled(changed, 127), samples.Filled(api.MaxDim-changed, -128)...)
-		g := dots(samples.Filled(api.MaxDim, -128), v, samples.Filled(api.MaxDim, 127))
+		g := samples.Dots(samples.Filled(api.MaxDim, -128), v, samples.Filled(api.MaxDim, 127))
 		between := api.MaxDim - changed
 		for den := 1; den <= api.MaxAlpha; den++ {
 			s := setup(api.MaxDim, 2, api.MaxAlpha, den)
@@ -441,8 +419,8 @@ func TestCallsRefuseAnyPlaceOfNoNodes(t *testing.T) {
 
 func TestCallsRefuseSetups(t *testing.T) {
 	for _, s := range samples.WrongSetups() {
-		checkRefused(t, onLine(0, 1, 2, -3), s)
-		checkRefused(t, onLine(0), s)
+		checkRefused(t, samples.OnLine(0, 1, 2, -3), s)
+		checkRefused(t, samples.OnLine(0), s)
 		checkRefused(t, api.Graph{}, s)
 	}
 }
@@ -466,7 +444,7 @@ func TestCallsRefuseGraphs(t *testing.T) {
 // P10.2
 
 func TestDominationKnown(t *testing.T) {
-	g, s := onLine(0, 1, 2, -3), setup(1, 2, 1, 1)
+	g, s := samples.OnLine(0, 1, 2, -3), setup(1, 2, 1, 1)
 	checkDomination(t, g, s, 0, 1, 2, true)
 	checkDomination(t, g, s, 0, 1, 3, false)
 	checkNoDomination(t, g, s, 0, 4, 1)
@@ -481,7 +459,7 @@ func TestDominationKnown(t *testing.T) {
 
 // How many there are, and a sum of which ones they are, reckoned outside the program.
 func TestDominationReckonedOutside(t *testing.T) {
-	g := ruled(25)
+	g := samples.Ruled(25)
 	for _, c := range [][5]int{
 		{0, 1, 1, 468, 3153114},
 		{0, 6, 5, 416, 2916187},
@@ -669,7 +647,7 @@ func TestAnswersKeepNoArgument(t *testing.T) {
 
 // An answer hangs on what is handed in alone, not on the calls ahead of it.
 func TestCallsAheadChangeNothing(t *testing.T) {
-	g, s := onLine(0, 1, 2, -3), setup(1, 2, 1, 1)
+	g, s := samples.OnLine(0, 1, 2, -3), setup(1, 2, 1, 1)
 	big := samples.Web(3, 200, 2, 4)
 	for range 3 {
 		checkKeep(t, g, s, 0, []int{3, 2, 1, 1, 0}, 1, 3)
@@ -683,7 +661,7 @@ func TestCallsAheadChangeNothing(t *testing.T) {
 
 // Calls that run side by side don't meet.
 func TestCallsSideBySide(t *testing.T) {
-	g, s := ruled(40), setup(2, 8, 2, 1)
+	g, s := samples.Ruled(40), setup(2, 8, 2, 1)
 	done := make(chan []int)
 	for at := range 40 {
 		go func() {

@@ -15,6 +15,28 @@ func Linked(start int, outs ...[]int) api.Graph {
 	return g
 }
 
+// Dots makes a graph of the vectors, whose IDs are their places, without neighbours.
+func Dots(vectors ...[]int8) api.Graph {
+	g := api.Graph{}
+	for i, v := range vectors {
+		g.Nodes = append(g.Nodes, api.Node{ID: uint64(i), V: v})
+	}
+	return g
+}
+
+// OnLine makes a graph as Dots does, of vectors of one number each.
+func OnLine(list ...int8) api.Graph { return Dots(Line(list...)...) }
+
+// Ruled makes a graph of at most 97 nodes, without neighbours, by a rule that numbers reckoned outside the program know too.
+func Ruled(count int) api.Graph {
+	g := api.Graph{}
+	for i := range count {
+		v := []int8{int8((37*i*i+11*i)%201 - 100), int8((53*i+7*i*i*i)%181 - 90)}
+		g.Nodes = append(g.Nodes, api.Node{ID: uint64((29*i + 5) % 97), V: v})
+	}
+	return g
+}
+
 // Web makes a graph that may be, of so many nodes, with vectors of so many numbers, and so many neighbours at most, without a pattern, the same one for the same seed.
 func Web(seed uint64, count, size, degree int) api.Graph {
 	draw := Drawer(seed)

@@ -19,6 +19,31 @@ func TestLinked(t *testing.T) {
 	}
 }
 
+func TestDots(t *testing.T) {
+	want := api.Graph{Nodes: []api.Node{{ID: 0, V: []int8{5}}, {ID: 1, V: []int8{-7}}, {ID: 2, V: []int8{5}}}}
+	if g := samples.Dots([]int8{5}, []int8{-7}, []int8{5}); !samples.SameGraph(g, want) {
+		t.Errorf("%v", g)
+	}
+	if g := samples.OnLine(5, -7, 5); !samples.SameGraph(g, want) {
+		t.Errorf("%v", g)
+	}
+	if g := samples.Dots(); len(g.Nodes) != 0 || g.Start != 0 {
+		t.Errorf("%v", g)
+	}
+}
+
+func TestRuled(t *testing.T) {
+	g := samples.Ruled(97)
+	want := samples.Dots([]int8{-100, -90}, []int8{-52, -30})
+	want.Nodes[0].ID, want.Nodes[1].ID = 5, 34
+	if !samples.SameGraph(samples.Ruled(2), want) || !graph.Check(g, samples.LeastSetup(2)) || len(g.Nodes) != 97 {
+		t.Errorf("%v", samples.TellGraph(g))
+	}
+	if !samples.SameGraph(api.Graph{Nodes: g.Nodes[:9]}, samples.Ruled(9)) {
+		t.Error("how many there are changes what they are")
+	}
+}
+
 func TestWeb(t *testing.T) {
 	for _, count := range []int{0, 1, 2, 50, api.MaxItems} {
 		g := samples.Web(1, count, 3, 5)
