@@ -27,6 +27,14 @@ func Dots(vectors ...[]int8) api.Graph {
 // OnLine makes a graph as Dots does, of vectors of one number each.
 func OnLine(list ...int8) api.Graph { return Dots(Line(list...)...) }
 
+// Joined gives the nodes of a graph their neighbours, one list each; those that are left stay as they are.
+func Joined(g api.Graph, outs ...[]int) api.Graph {
+	for i, out := range outs {
+		g.Nodes[i].Out = out
+	}
+	return g
+}
+
 // Ruled makes a graph of at most 97 nodes, without neighbours, by a rule that numbers reckoned outside the program know too.
 func Ruled(count int) api.Graph {
 	g := api.Graph{}
@@ -112,6 +120,28 @@ func SpoilGraph(g api.Graph) {
 		}
 		nodes[i] = api.Node{ID: 99}
 	}
+}
+
+// SharedLists tells the places of those nodes whose vector or neighbours share memory, spare room too, with another list of the graph; each time, of a new one that is made.
+func SharedLists(fresh func() api.Graph) []int {
+	var shared []int
+	want := CopyGraph(fresh())
+	for place := range want.Nodes {
+		g, changed := fresh(), CopyGraph(want)
+		node, other := g.Nodes[place], &changed.Nodes[place]
+		node.V, node.Out = node.V[:cap(node.V)], node.Out[:cap(node.Out)]
+		for i := range node.V {
+			node.V[i] = 99
+		}
+		for i := range node.Out {
+			node.Out[i] = 99
+		}
+		other.V, other.Out = Filled(len(other.V), 99), slices.Repeat([]int{99}, len(other.Out))
+		if !SameGraph(g, changed) {
+			shared = append(shared, place)
+		}
+	}
+	return shared
 }
 
 // FullGraph makes a graph that may be, with as many nodes, neighbours and numbers as can be, and the greatest IDs.

@@ -32,6 +32,16 @@ func TestDots(t *testing.T) {
 	}
 }
 
+func TestJoined(t *testing.T) {
+	want := api.Graph{Nodes: []api.Node{{ID: 0, V: []int8{5}, Out: []int{2, 1}}, {ID: 1, V: []int8{-7}}, {ID: 2, V: []int8{5}}}}
+	if g := samples.Joined(samples.OnLine(5, -7, 5), []int{2, 1}, nil); !samples.SameGraph(g, want) {
+		t.Errorf("%v", g)
+	}
+	if g := samples.Joined(samples.Linked(0, nil, []int{0})); !samples.SameGraph(g, samples.Linked(0, nil, []int{0})) {
+		t.Errorf("%v", g)
+	}
+}
+
 func TestRuled(t *testing.T) {
 	g := samples.Ruled(97)
 	want := samples.Dots([]int8{-100, -90}, []int8{-52, -30})
@@ -137,6 +147,33 @@ func TestSpoilGraph(t *testing.T) {
 	for _, node := range look().Nodes[:4] {
 		if node.ID != 99 || len(node.V) != 0 {
 			t.Errorf("%v", node)
+		}
+	}
+}
+
+// Memory that lists share is found, where it is spare room too.
+func TestSharedLists(t *testing.T) {
+	out, v := []int{2, 1, 3, 0, 1, 2}, []int8{1, 2, 3, 4, 5, 6}
+	for name, c := range map[string]struct {
+		change func(nodes []api.Node)
+		want   []int
+	}{
+		"nothing":           {func(nodes []api.Node) {}, nil},
+		"neighbours":        {func(nodes []api.Node) { nodes[0].Out, nodes[2].Out = out[:3], out[2:] }, []int{0, 2}},
+		"vectors":           {func(nodes []api.Node) { nodes[1].V, nodes[2].V = v[:2], v[1:] }, []int{1, 2}},
+		"a list's room":     {func(nodes []api.Node) { nodes[0].Out, nodes[2].Out = out[:1], out[3:] }, []int{0}},
+		"a vector's room":   {func(nodes []api.Node) { nodes[1].V, nodes[2].V = v[2:], v[:2] }, []int{2}},
+		"parts of one list": {func(nodes []api.Node) { nodes[0].Out, nodes[2].Out = out[:3:3], out[3:] }, nil},
+	} {
+		fresh := func() api.Graph {
+			copy(out, []int{2, 1, 3, 0, 1, 2})
+			copy(v, []int8{1, 2, 3, 4, 5, 6})
+			g := samples.Linked(0, []int{1}, []int{0, 2}, nil)
+			c.change(g.Nodes)
+			return g
+		}
+		if shared := samples.SharedLists(fresh); !slices.Equal(shared, c.want) {
+			t.Errorf("%s: %v", name, shared)
 		}
 	}
 }

@@ -17,14 +17,6 @@ func example() api.Graph {
 	return api.Graph{Nodes: []api.Node{{ID: 7, V: []int8{0}, Out: []int{1}}, {ID: 8, V: []int8{5}, Out: []int{2}}, {ID: 9, V: []int8{9}}, {ID: 6, V: []int8{8}, Out: []int{0}}}}
 }
 
-// joined gives the nodes their neighbours, one list each; those that are left have none.
-func joined(g api.Graph, outs ...[]int) api.Graph {
-	for i, out := range outs {
-		g.Nodes[i].Out = out
-	}
-	return g
-}
-
 // ruled joins nodes by a rule that the numbers reckoned outside know too; some have themselves as a neighbour, or another one twice.
 func ruled(count, start int) api.Graph {
 	g := samples.Ruled(count)
@@ -245,7 +237,7 @@ func TestBeamOfEachGraph(t *testing.T) {
 	samples.Subsets(3, func(list []int) { three = append(three, list) })
 	samples.Subsets(4, func(list []int) { four = append(four, list) })
 	for code := range 512 {
-		g := joined(samples.OnLine(5, 3, 8), three[code&7], three[code>>3&7], three[code>>6])
+		g := samples.Joined(samples.OnLine(5, 3, 8), three[code&7], three[code>>3&7], three[code>>6])
 		for beam := 1; beam <= 4; beam++ {
 			g.Start = (code + beam) % 3
 			for k := 1; k <= beam; k++ {
@@ -254,7 +246,7 @@ func TestBeamOfEachGraph(t *testing.T) {
 		}
 	}
 	for code := range 65536 {
-		g := joined(samples.OnLine(6, 2, -2, 9), four[code&15], four[code>>4&15], four[code>>8&15], four[code>>12])
+		g := samples.Joined(samples.OnLine(6, 2, -2, 9), four[code&15], four[code>>4&15], four[code>>8&15], four[code>>12])
 		beam := 1 + code%3
 		for g.Start = range 4 {
 			l, looked := plainBeam(g, []int8{0}, beam, beam)
@@ -277,7 +269,7 @@ func TestBeamOfDrawnGraphs(t *testing.T) {
 
 // A node that leads on is behind one that doesn't: a list of one has no room for it.
 func TestBeamGoesAsFarAsItsWidth(t *testing.T) {
-	g := joined(samples.OnLine(10, 5, 6, 0), []int{2, 1}, nil, []int{3})
+	g := samples.Joined(samples.OnLine(10, 5, 6, 0), []int{2, 1}, nil, []int{3})
 	checkBeam(t, g, []int8{0}, 1, 1, hits(1, 25), []int{0, 1})
 	checkBeam(t, g, []int8{0}, 1, 2, hits(3, 0), []int{0, 1, 2, 3})
 	checkBeam(t, g, []int8{0}, 2, 2, hits(3, 0, 1, 25), []int{0, 1, 2, 3})
@@ -287,7 +279,7 @@ func TestBeamGoesAsFarAsItsWidth(t *testing.T) {
 
 // One that waits goes out of the list ahead of being looked at, and does not come again, though others lead to it.
 func TestBeamForgetsWhatGoes(t *testing.T) {
-	g := joined(samples.OnLine(20, 7, 8, 3, 2, 1), []int{1, 2}, []int{3, 4, 2}, []int{5}, []int{2}, []int{2})
+	g := samples.Joined(samples.OnLine(20, 7, 8, 3, 2, 1), []int{1, 2}, []int{3, 4, 2}, []int{5}, []int{2}, []int{2})
 	checkBeam(t, g, []int8{0}, 2, 2, hits(4, 4, 3, 9), []int{0, 1, 4, 3})
 	checkBeam(t, g, []int8{0}, 3, 3, hits(4, 4, 3, 9, 1, 49), []int{0, 1, 4, 3})
 	checkBeam(t, g, []int8{0}, 4, 4, hits(5, 1, 4, 4, 3, 9, 1, 49), []int{0, 1, 4, 3, 2, 5})
@@ -295,15 +287,15 @@ func TestBeamForgetsWhatGoes(t *testing.T) {
 
 // The nearest that was not looked at is the next one, also if it came long ago.
 func TestBeamLooksAtTheNearestFirst(t *testing.T) {
-	g := joined(samples.OnLine(50, 10, 11, 12, 30, 20, 5), []int{1, 2, 3}, []int{4}, []int{5}, []int{6})
+	g := samples.Joined(samples.OnLine(50, 10, 11, 12, 30, 20, 5), []int{1, 2, 3}, []int{4}, []int{5}, []int{6})
 	checkBeam(t, g, []int8{0}, 1, 9, hits(6, 25), []int{0, 1, 2, 3, 6, 5, 4})
-	g = joined(samples.OnLine(50, 10, 40, 9, 41, 8, 42), []int{2, 1}, []int{4, 3}, nil, []int{6, 5})
+	g = samples.Joined(samples.OnLine(50, 10, 40, 9, 41, 8, 42), []int{2, 1}, []int{4, 3}, nil, []int{6, 5})
 	checkBeam(t, g, []int8{0}, 1, 9, hits(5, 64), []int{0, 1, 3, 5, 2, 4, 6})
 }
 
 // Of nodes that are as far, those with less IDs are nearer, wherever they stand.
 func TestBeamGoesByIDs(t *testing.T) {
-	g := joined(samples.OnLine(9, 5, -5, 5), []int{3, 1, 2})
+	g := samples.Joined(samples.OnLine(9, 5, -5, 5), []int{3, 1, 2})
 	samples.Orders([]int{0, 1, 2}, func(order []int) {
 		for _, ids := range [][]uint64{{0, 1, 2}, {7, 1 << 31, 1 << 32}, {1 << 33, api.MaxNumber - 1, api.MaxNumber}, {1, 1<<63 - 1, 1<<64 - 1}} {
 			places := make([]int, 3)
@@ -322,7 +314,7 @@ func TestBeamGoesByIDs(t *testing.T) {
 
 // In which order neighbours stand, and how often, counts nothing.
 func TestBeamOfEachOrderOfNeighbours(t *testing.T) {
-	g := joined(samples.OnLine(60, 4, -4, 30, 2, 9), nil, []int{3}, []int{5, 2, 2}, []int{4, 4, 0}, []int{4})
+	g := samples.Joined(samples.OnLine(60, 4, -4, 30, 2, 9), nil, []int{3}, []int{5, 2, 2}, []int{4, 4, 0}, []int{4})
 	for beam := 1; beam <= 6; beam++ {
 		g.Nodes[0].Out = []int{1, 2, 3, 5}
 		l, looked := plainBeam(g, []int8{0}, beam, beam)
