@@ -18,133 +18,18 @@ func setup(dim, degree, beam, num, den int) api.Setup {
 	return api.Setup{Dim: dim, Degree: degree, Beam: beam, Num: num, Den: den}
 }
 
-// setups are some for vectors of so many numbers, with at least so many neighbours.
-func setups(dim, degree int) []api.Setup {
-	return []api.Setup{
-		setup(dim, degree, 1, 1, 1), setup(dim, degree, 3, 4, 1), setup(dim, degree, 256, 1000, 1),
-		setup(dim, degree+1, 2, 1000, 1), setup(dim, degree+2, 5, 6, 5), samples.WideSetup(dim),
-	}
-}
-
 func item(id uint64, v ...int8) api.Item { return api.Item{ID: id, V: v} }
-
-// itemsOf are the nodes of a graph, as items.
-func itemsOf(g api.Graph) []api.Item {
-	var l []api.Item
-	for _, node := range g.Nodes {
-		l = append(l, item(node.ID, node.V...))
-	}
-	return l
-}
-
-// bare is a graph of the items, none of which has a neighbour.
-func bare(l ...api.Item) api.Graph {
-	g := api.Graph{}
-	for _, x := range l {
-		g.Nodes = append(g.Nodes, api.Node{ID: x.ID, V: x.V})
-	}
-	return g
-}
 
 // example is the chapter's graph; exampleSetup is its setup.
 func example() api.Graph {
-	return samples.Joined(bare(item(1, 0), item(2, 9)), []int{1}, []int{0})
+	return samples.Joined(samples.Bare(item(1, 0), item(2, 9)), []int{1}, []int{0})
 }
 
 func exampleSetup() api.Setup { return setup(1, 1, 4, 1, 1) }
 
-// ruled is a graph that may be, whose nodes are joined by a rule that the numbers reckoned outside know too; the next item of that rule stands beside it.
+// ruled is a graph of samples.RuledWeb; the next item of its rule stands beside it.
 func ruled(count, degree, start int) (api.Graph, api.Item) {
-	g := samples.Ruled(count + 1)
-	for i := range count {
-		out := []int{}
-		for _, place := range []int{(7*i + 3) % count, (5*i*i + 1) % count, (3*i + 8) % count, (i*i*i + 2*i) % count} {
-			if place != i && !slices.Contains(out, place) && len(out) < degree {
-				out = append(out, place)
-			}
-		}
-		g.Nodes[i].Out = out
-	}
-	g.Start = start
-	last := g.Nodes[count]
-	g.Nodes = g.Nodes[:count]
-	return g, item(last.ID, last.V...)
-}
-
-// plainNearer says whether the node at a is a nearer hit than the one at b, to the node at a place: the document's words.
-func plainNearer(g api.Graph, at, a, b int) bool {
-	far := func(place int) int {
-		sum := 0
-		for i, n := range g.Nodes[place].V {
-			sum += (int(n) - int(g.Nodes[at].V[i])) * (int(n) - int(g.Nodes[at].V[i]))
-		}
-		return sum
-	}
-	return far(a) < far(b) || far(a) == far(b) && g.Nodes[a].ID < g.Nodes[b].ID
-}
-
-// way is a neighbour: whose it is, and which one.
-type way struct{ at, nth int }
-
-// plainWalk tells the places that are reached, in the order in which they are come to, and the ways.
-func plainWalk(g api.Graph) ([]int, []way) {
-	if len(g.Nodes) == 0 {
-		return nil, nil
-	}
-	order, ways := []int{g.Start}, []way{}
-	for i := 0; i < len(order); i++ {
-		for nth, next := range g.Nodes[order[i]].Out {
-			if !slices.Contains(order, next) {
-				order, ways = append(order, next), append(ways, way{order[i], nth})
-			}
-		}
-	}
-	return order, ways
-}
-
-// plainNearest is the nearest to the node at a place of the others, each held against all; -1: there is none.
-func plainNearest(g api.Graph, at int, others []int) int {
-	return slices.IndexFunc(g.Nodes, func(node api.Node) bool {
-		own := graph.Find(g, node.ID)
-		return slices.Contains(others, own) && !slices.ContainsFunc(others, func(place int) bool { return plainNearer(g, at, place, own) })
-	})
-}
-
-// plainMend is the document's words; the graph is its own. It tells how often there was room, and how often not.
-func plainMend(g api.Graph, s api.Setup) (room, noRoom int) {
-	for lost := 0; lost < len(g.Nodes); lost++ {
-		order, ways := plainWalk(g)
-		if slices.Contains(order, lost) {
-			continue
-		}
-		var roomy, loose []int
-		for _, place := range order {
-			if len(g.Nodes[place].Out) < s.Degree {
-				roomy = append(roomy, place)
-			}
-			for nth := range g.Nodes[place].Out {
-				if !slices.Contains(ways, way{place, nth}) {
-					loose = append(loose, place)
-				}
-			}
-		}
-		at := plainNearest(g, lost, roomy)
-		if at != -1 {
-			room++
-		} else {
-			noRoom++
-			at = plainNearest(g, lost, loose)
-			goes := -1
-			for nth, next := range g.Nodes[at].Out {
-				if !slices.Contains(ways, way{at, nth}) && (goes == -1 || plainNearer(g, at, g.Nodes[at].Out[goes], next)) {
-					goes = nth
-				}
-			}
-			g.Nodes[at].Out = slices.Delete(g.Nodes[at].Out, goes, goes+1)
-		}
-		g.Nodes[at].Out = append(g.Nodes[at].Out, lost)
-	}
-	return room, noRoom
+	return samples.RuledWeb(count, degree, start), samples.Items(samples.Ruled(count + 1))[count]
 }
 
 // plainJoin is what is done ahead of mending: a graph in which the item is.
@@ -166,7 +51,7 @@ func plainJoin(g api.Graph, s api.Setup, x api.Item) api.Graph {
 
 func plainInsert(g api.Graph, s api.Setup, x api.Item) api.Graph {
 	g = plainJoin(g, s, x)
-	plainMend(g, s)
+	samples.Mend(g, s)
 	return g
 }
 
@@ -202,20 +87,20 @@ func checkInsert(t *testing.T, g api.Graph, s api.Setup, x api.Item, want api.Gr
 	if !samples.SameGraph(grown, want) {
 		t.Errorf("Insert(%v (%d nodes), %+v, %v) = %v; want %v", samples.TellGraph(g), len(g.Nodes), s, x, samples.TellGraph(grown), samples.TellGraph(want))
 	}
-	checkFollows(t, grown, s, append(itemsOf(g), x), g.Start)
+	checkFollows(t, grown, s, append(samples.Items(g), x), g.Start)
 }
 
 // checkJoined: the item comes into the graph, and then the nodes have these neighbours.
 func checkJoined(t *testing.T, g api.Graph, s api.Setup, x api.Item, outs ...[]int) {
 	t.Helper()
-	want := samples.Joined(bare(append(itemsOf(g), x)...), outs...)
+	want := samples.Joined(samples.Bare(append(samples.Items(g), x)...), outs...)
 	want.Start = g.Start
 	checkInsert(t, g, s, x, want)
 }
 
 func checkBuild(t *testing.T, s api.Setup, l []api.Item, outs ...[]int) {
 	t.Helper()
-	g, want := mustBuild(t, s, l), samples.Joined(bare(l...), outs...)
+	g, want := mustBuild(t, s, l), samples.Joined(samples.Bare(l...), outs...)
 	if !samples.SameGraph(g, want) {
 		t.Errorf("Build(%+v, %v) = %v; want %v", s, l, samples.TellGraph(g), samples.TellGraph(want))
 	}
@@ -245,7 +130,7 @@ func TestInsertKnown(t *testing.T) {
 	checkNoInsert(t, g, s, item(1, 3), api.ErrThere)
 	checkNoInsert(t, g, s, item(4, 1, 2), api.ErrArg)
 	checkJoined(t, api.Graph{}, s, item(1, 0), nil)
-	checkJoined(t, bare(item(1, 0)), s, item(2, 9), []int{1}, []int{0})
+	checkJoined(t, samples.Bare(item(1, 0)), s, item(2, 9), []int{1}, []int{0})
 	checkJoined(t, api.Graph{}, s, item(api.MaxNumber, 0), nil)
 	checkNoInsert(t, api.Graph{}, s, item(api.MaxNumber+1, 0), api.ErrArg)
 }
@@ -273,40 +158,13 @@ func TestInsertReckonedOutside(t *testing.T) {
 	}
 }
 
-// eachOut calls f with each list of at most so many of the nodes but one, in each order.
-func eachOut(count, own, degree int, f func([]int)) {
-	samples.Subsets(count, func(list []int) {
-		if len(list) <= degree && !slices.Contains(list, own) {
-			samples.Orders(list, func(out []int) { f(slices.Clone(out)) })
-		}
-	})
-}
-
-// eachGraph calls f with each way in which the nodes can be joined, and the how-many-th one it is.
-func eachGraph(g api.Graph, degree int, f func(nth int, g api.Graph)) {
-	nth := 0
-	var put func(at int)
-	put = func(at int) {
-		if at == len(g.Nodes) {
-			f(nth, g)
-			nth++
-			return
-		}
-		eachOut(len(g.Nodes), at, degree, func(out []int) {
-			g.Nodes[at].Out = out
-			put(at + 1)
-		})
-	}
-	put(0)
-}
-
 // Into all graphs of up to three nodes, with each Start, an item comes at several places; into those of four, some of which are as far, at one.
 func TestInsertIntoEachGraph(t *testing.T) {
 	for _, line := range [][]int8{{}, {5}, {5, 3}, {5, 3, 9}, {-2, 2, -6}} {
 		for degree := 1; degree <= 2; degree++ {
-			eachGraph(samples.OnLine(line...), degree, func(nth int, g api.Graph) {
+			samples.Joins(samples.OnLine(line...), degree, func(nth int, g api.Graph) {
 				for g.Start = range max(len(line), 1) {
-					for _, s := range setups(1, degree) {
+					for _, s := range samples.Setups(1, degree) {
 						x := item(99, int8(nth*5%23-7))
 						checkInsert(t, g, s, x, plainInsert(g, s, x))
 					}
@@ -314,11 +172,11 @@ func TestInsertIntoEachGraph(t *testing.T) {
 			})
 		}
 	}
-	nodes := bare(item(8, 6), item(3, 2), item(5, -2), item(1, 9))
+	nodes := samples.Bare(item(8, 6), item(3, 2), item(5, -2), item(1, 9))
 	for degree := 1; degree <= 2; degree++ {
-		eachGraph(nodes, degree, func(nth int, g api.Graph) {
+		samples.Joins(nodes, degree, func(nth int, g api.Graph) {
 			g.Start = nth % 4
-			s := setups(1, degree)[nth%3]
+			s := samples.Setups(1, degree)[nth%3]
 			x := item(4, []int8{0, 6, 2, 10, -3}[nth%5])
 			checkInsert(t, g, s, x, plainInsert(g, s, x))
 		})
@@ -331,10 +189,10 @@ func TestInsertIntoDrawnGraphs(t *testing.T) {
 		draw := samples.Drawer(seed)
 		dim, degree := 1+int(draw()%4), 1+int(draw()%4)
 		g := samples.Web(seed, 1+int(draw()%40), dim, degree)
-		for _, s := range setups(dim, degree) {
+		for _, s := range samples.Setups(dim, degree) {
 			x := item(seed, samples.Noise(draw(), dim)...)
 			checkInsert(t, g, s, x, plainInsert(g, s, x))
-			a, b := plainMend(plainJoin(g, s, x), s)
+			a, b := samples.Mend(plainJoin(g, s, x), s)
 			room, noRoom = room+a, noRoom+b
 		}
 	}
@@ -413,13 +271,13 @@ func checkGrows(t *testing.T, g api.Graph, s api.Setup, x api.Item) {
 	t.Helper()
 	for _, place := range []int{0, 7, len(g.Nodes) - 1} {
 		left, _ := graph.Drop(g, []int{place})
-		checkFollows(t, mustInsert(t, left, s, x), s, append(itemsOf(left), x), left.Start)
+		checkFollows(t, mustInsert(t, left, s, x), s, append(samples.Items(left), x), left.Start)
 	}
 }
 
 func TestInsertRefusesSetups(t *testing.T) {
 	for _, s := range samples.WrongSetups() {
-		for _, g := range []api.Graph{{}, example(), bare(item(1, 0))} {
+		for _, g := range []api.Graph{{}, example(), samples.Bare(item(1, 0))} {
 			checkNoInsert(t, g, s, item(7, 5), api.ErrArg)
 			checkNoInsert(t, g, s, item(1, 5), api.ErrArg)
 			checkNoInsert(t, g, s, item(7, make([]int8, max(0, min(s.Dim, 99)))...), api.ErrArg)
@@ -480,7 +338,7 @@ func TestBuildReckonedOutside(t *testing.T) {
 		{12, setup(2, 4, 6, 3, 2), [][]int{{1, 8}, {7, 8, 4}, {3, 11, 1}, {2, 1, 4, 9}, {1, 3, 9}, {6, 7, 2, 10}, {5, 1, 11}, {1, 5, 9}, {1, 0, 5}, {4, 3, 7, 11}, {5, 2, 1, 11}, {10, 2, 9, 6}}},
 		{12, setup(2, 32, 256, 1, 1), [][]int{{1, 8}, {0, 2, 3, 4, 5, 7, 8}, {1, 3, 5, 10, 11}, {2, 1, 4, 9}, {1, 3, 9}, {2, 1, 6, 7, 10}, {5, 8}, {1, 5, 11}, {1, 0, 6}, {4, 3}, {5, 2, 11}, {10, 2, 7}}},
 	} {
-		checkBuild(t, c.s, itemsOf(samples.Ruled(c.count)), c.want...)
+		checkBuild(t, c.s, samples.Items(samples.Ruled(c.count)), c.want...)
 	}
 }
 
@@ -504,7 +362,7 @@ func TestBuildOfManyReckonedOutside(t *testing.T) {
 		{97, setup(2, 5, 256, 1000, 999), 368, 1336800},
 		{60, setup(2, 6, 2, 4, 1), 273, 674172},
 	} {
-		l := itemsOf(samples.Ruled(c.count))
+		l := samples.Items(samples.Ruled(c.count))
 		g := mustBuild(t, c.s, l)
 		many, sum := 0, 0
 		for place, node := range g.Nodes {
@@ -524,8 +382,8 @@ func TestBuildOfManyReckonedOutside(t *testing.T) {
 func TestBuildAndInsert(t *testing.T) {
 	for seed := range uint64(20) {
 		dim, degree := 1+int(seed%3), 1+int(seed%4)
-		l := itemsOf(samples.Web(seed, 40, dim, 0))
-		for _, s := range setups(dim, degree) {
+		l := samples.Items(samples.Web(seed, 40, dim, 0))
+		for _, s := range samples.Setups(dim, degree) {
 			g := api.Graph{}
 			for i, x := range l {
 				if i%13 == 0 {
@@ -551,7 +409,7 @@ func outsOf(g api.Graph) [][]int {
 func TestBuildOfEachOrder(t *testing.T) {
 	unlike := map[string]int{}
 	samples.Orders([]api.Item{item(3, 5), item(1, 0), item(2, 5), item(9, -7), item(4, 12)}, func(l []api.Item) {
-		for _, s := range setups(1, 1) {
+		for _, s := range samples.Setups(1, 1) {
 			checkBuild(t, s, l, outsOf(plainBuild(s, l))...)
 		}
 		far := ""
@@ -572,14 +430,14 @@ func TestBuildOfSameVectors(t *testing.T) {
 		l = append(l, item(uint64(100-i), 3, 4))
 	}
 	for degree := 1; degree <= 4; degree++ {
-		for _, s := range setups(2, degree) {
+		for _, s := range samples.Setups(2, degree) {
 			checkBuild(t, s, l, outsOf(plainBuild(s, l))...)
 		}
 	}
 }
 
 func TestBuildRefuses(t *testing.T) {
-	l := itemsOf(samples.Web(1, 9, 3, 0))
+	l := samples.Items(samples.Web(1, 9, 3, 0))
 	s := setup(3, 2, 4, 6, 5)
 	checkBuild(t, s, l, outsOf(plainBuild(s, l))...)
 	for place := range l {
@@ -610,14 +468,14 @@ func TestBuildRefuses(t *testing.T) {
 }
 
 func TestBuildAtTheLimits(t *testing.T) {
-	l := itemsOf(samples.Web(1, api.MaxItems+1, 2, 0))
+	l := samples.Items(samples.Web(1, api.MaxItems+1, 2, 0))
 	for _, s := range []api.Setup{samples.LeastSetup(2), setup(2, 3, 5, 6, 5)} {
 		checkFollows(t, mustBuild(t, s, l[:api.MaxItems]), s, l[:api.MaxItems], 0)
 		checkNoBuild(t, s, l, api.ErrFull)
 		checkNoBuild(t, s, append(slices.Clone(l), l[2000]), api.ErrThere)
 		checkNoBuild(t, s, append(slices.Clone(l), item(7)), api.ErrArg)
 	}
-	l = itemsOf(samples.Web(1, api.MaxItems, api.MaxDim, 0))
+	l = samples.Items(samples.Web(1, api.MaxItems, api.MaxDim, 0))
 	l[2047].ID, l[2047].V = api.MaxNumber, samples.Filled(api.MaxDim, -128)
 	checkFollows(t, mustBuild(t, samples.MostSetup(), l), samples.MostSetup(), l, 0)
 }
@@ -627,8 +485,7 @@ func TestBuildAtTheLimits(t *testing.T) {
 // checkFollows: the graph may be; its nodes are the items, in order; each is reached, from the Start.
 func checkFollows(t *testing.T, g api.Graph, s api.Setup, l []api.Item, start int) {
 	t.Helper()
-	same := slices.EqualFunc(g.Nodes, l, func(node api.Node, x api.Item) bool { return node.ID == x.ID && slices.Equal(node.V, x.V) })
-	if !same || g.Start != start || !graph.Check(g, s) {
+	if !samples.SameItems(samples.Items(g), l) || g.Start != start || !graph.Check(g, s) {
 		t.Errorf("%+v: of %d items it is %v", s, len(l), samples.TellGraph(g))
 	}
 	if reached, e := graph.Reached(g); len(reached) != len(l) || e != api.OK {
@@ -639,7 +496,7 @@ func checkFollows(t *testing.T, g api.Graph, s api.Setup, l []api.Item, start in
 // A search that is as wide as there are nodes finds all of them.
 func TestWideBeamFindsTheNearest(t *testing.T) {
 	for seed := range uint64(10) {
-		l := itemsOf(samples.Web(seed, 200, 3, 0))
+		l := samples.Items(samples.Web(seed, 200, 3, 0))
 		g := mustBuild(t, setup(3, 1+int(seed%4), 5, 6, 5), l)
 		for _, k := range []int{1, 20, 200} {
 			exact, _ := search.Exact(g, samples.Noise(seed+50, 3), k)
@@ -657,7 +514,7 @@ func TestArgumentsStayAsTheyAre(t *testing.T) {
 	v := samples.Noise(3, 9)
 	x, ahead, room := item(7, v[:4]...), look(), slices.Clone(v)
 	for range 2 {
-		for _, s := range setups(4, 3) {
+		for _, s := range samples.Setups(4, 3) {
 			mustInsert(t, g, s, x)
 			checkNoInsert(t, g, s, item(7, v...), api.ErrArg)
 			checkNoInsert(t, g, s, item(g.Nodes[3].ID, v[:4]...), api.ErrThere)
@@ -674,7 +531,7 @@ func TestArgumentsStayAsTheyAre(t *testing.T) {
 		l[i].V = v
 	}
 	all, part := slices.Clone(l), l[:20]
-	for _, s := range setups(4, 3) {
+	for _, s := range samples.Setups(4, 3) {
 		mustBuild(t, s, part)
 		checkNoBuild(t, s, append(slices.Clone(part), part[0]), api.ErrThere)
 	}
@@ -694,13 +551,13 @@ func TestSpareRoomDoesNotCount(t *testing.T) {
 		plain := samples.Web(seed, 30, 4, 3)
 		g, _ := samples.RoomyGraph(plain)
 		v := samples.Noise(seed, 9)
-		for _, s := range setups(4, 3) {
+		for _, s := range samples.Setups(4, 3) {
 			checkInsert(t, g, s, item(7, v[:4]...), plainInsert(plain, s, item(7, v[:4]...)))
 			checkNoInsert(t, g, s, item(7, v[:3]...), api.ErrArg)
 		}
 	}
 	full, _ := samples.RoomyGraph(samples.Web(1, api.MaxItems-1, 1, 2))
-	checkFollows(t, mustInsert(t, full, setup(1, 2, 4, 6, 5), item(1, 5)), setup(1, 2, 4, 6, 5), append(itemsOf(full), item(1, 5)), full.Start)
+	checkFollows(t, mustInsert(t, full, setup(1, 2, 4, 6, 5), item(1, 5)), setup(1, 2, 4, 6, 5), append(samples.Items(full), item(1, 5)), full.Start)
 	none, _ := samples.RoomyGraph(api.Graph{})
 	checkJoined(t, none, exampleSetup(), item(1, 5), nil)
 	l := []api.Item{item(1, 0), item(2, 9), item(1, 3)}
@@ -711,9 +568,9 @@ func TestSpareRoomDoesNotCount(t *testing.T) {
 func TestAnswersShareNoMemory(t *testing.T) {
 	plain := samples.Web(1, 30, 4, 3)
 	g, look := samples.RoomyGraph(plain)
-	v, l := samples.Noise(3, 9), itemsOf(plain)
+	v, l := samples.Noise(3, 9), samples.Items(plain)
 	ahead, room := look(), slices.Clone(v)
-	for _, s := range setups(4, 3) {
+	for _, s := range samples.Setups(4, 3) {
 		want, built := plainInsert(plain, s, item(7, v[:4]...)), plainBuild(s, l)
 		for range 2 {
 			grown, other := mustInsert(t, g, s, item(7, v[:4]...)), mustInsert(t, g, s, item(7, v[:4]...))
@@ -735,10 +592,10 @@ func TestAnswersShareNoMemory(t *testing.T) {
 // What was handed in may be changed: an answer stays.
 func TestAnswersKeepNoArgument(t *testing.T) {
 	plain := samples.Web(1, 30, 4, 3)
-	for _, s := range setups(4, 3) {
+	for _, s := range samples.Setups(4, 3) {
 		g, _ := samples.RoomyGraph(plain)
-		v, l := samples.Noise(3, 4), itemsOf(samples.CopyGraph(plain))
-		want, built := plainInsert(plain, s, item(7, v...)), plainBuild(s, itemsOf(plain))
+		v, l := samples.Noise(3, 4), samples.Items(samples.CopyGraph(plain))
+		want, built := plainInsert(plain, s, item(7, v...)), plainBuild(s, samples.Items(plain))
 		grown, all := mustInsert(t, g, s, item(7, v...)), mustBuild(t, s, l)
 		samples.SpoilGraph(g)
 		clear(v)
@@ -759,7 +616,7 @@ func TestListsOfAnAnswerShareNoMemory(t *testing.T) {
 	for i := range g.Nodes {
 		g.Nodes[i].V = v[i : i+4]
 	}
-	for _, s := range append(setups(4, 4), setups(4, 5)...) {
+	for _, s := range append(samples.Setups(4, 4), samples.Setups(4, 5)...) {
 		x := item(7, v[2:6]...)
 		if shared := samples.SharedLists(func() api.Graph { return mustInsert(t, g, s, x) }); len(shared) > 0 {
 			t.Errorf("%+v: the nodes %v share", s, shared)
@@ -769,7 +626,7 @@ func TestListsOfAnAnswerShareNoMemory(t *testing.T) {
 	for i := range 25 {
 		l = append(l, api.Item{ID: uint64(i), V: v[i%5 : i%5+4]})
 	}
-	for _, s := range setups(4, 1) {
+	for _, s := range samples.Setups(4, 1) {
 		if shared := samples.SharedLists(func() api.Graph { return mustBuild(t, s, l) }); len(shared) > 0 {
 			t.Errorf("%+v: the nodes %v share", s, shared)
 		}
@@ -792,7 +649,7 @@ func TestCallsAheadChangeNothing(t *testing.T) {
 
 // Calls that run side by side don't meet.
 func TestCallsSideBySide(t *testing.T) {
-	l := itemsOf(samples.Ruled(50))
+	l := samples.Items(samples.Ruled(50))
 	done := make(chan int)
 	for n := range 20 {
 		go func() {
@@ -865,14 +722,14 @@ func BenchmarkInsertIntoLooseNodes(b *testing.B) {
 }
 
 func BenchmarkBuild(b *testing.B) {
-	l := itemsOf(samples.Web(1, api.MaxItems, api.MaxDim, 0))
+	l := samples.Items(samples.Web(1, api.MaxItems, api.MaxDim, 0))
 	for b.Loop() {
 		build.Build(setup(api.MaxDim, api.MaxDegree, 64, 6, 5), l)
 	}
 }
 
 func BenchmarkBuildOfTheMost(b *testing.B) {
-	l := itemsOf(samples.Web(1, api.MaxItems, api.MaxDim, 0))
+	l := samples.Items(samples.Web(1, api.MaxItems, api.MaxDim, 0))
 	for b.Loop() {
 		build.Build(setup(api.MaxDim, api.MaxDegree, api.MaxHits, api.MaxAlpha, 1), l)
 	}

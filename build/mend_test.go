@@ -35,7 +35,7 @@ func TestMendByEachRule(t *testing.T) {
 			setup(1, 2, 4, 9, 1), item(1, -2), [][]int{{3, 2}, {0, 2}, {3, 1}, {0, 2}}},
 	} {
 		t.Run(c.name, func(t *testing.T) {
-			g := samples.Joined(bare(c.nodes...), c.outs...)
+			g := samples.Joined(samples.Bare(c.nodes...), c.outs...)
 			g.Start = c.start
 			checkJoined(t, g, c.s, c.x, c.want...)
 		})
@@ -48,7 +48,7 @@ func TestMendLeadsToEachNode(t *testing.T) {
 	checkJoined(t, g, setup(1, 1, 4, 1, 1), item(9, 1), []int{5}, []int{2}, []int{3}, []int{4}, nil, []int{1})
 	checkJoined(t, g, setup(1, 2, 4, 1, 1), item(9, 1), []int{5, 3}, []int{2}, []int{4}, nil, nil, []int{0, 1})
 	for degree := 1; degree <= api.MaxDegree; degree++ {
-		for _, s := range setups(2, min(degree, api.MaxDegree-2)) {
+		for _, s := range samples.Setups(2, min(degree, api.MaxDegree-2)) {
 			g, x := ruled(60, 0, degree)
 			checkInsert(t, g, s, x, plainInsert(g, s, x))
 		}
@@ -70,7 +70,7 @@ func TestMendMakesRoom(t *testing.T) {
 		for _, x := range []api.Item{item(98, 127, 127), item(98, -60, -50)} {
 			s := setup(2, degree, 9, 1000, 1)
 			checkInsert(t, g, s, x, plainInsert(g, s, x))
-			if room, noRoom := plainMend(plainJoin(g, s, x), s); noRoom < 20 {
+			if room, noRoom := samples.Mend(plainJoin(g, s, x), s); noRoom < 20 {
 				t.Errorf("degree %d: there was room %d times, and none %d times", degree, room, noRoom)
 			}
 		}

@@ -45,6 +45,50 @@ func Ruled(count int) api.Graph {
 	return g
 }
 
+// RuledWeb makes a graph of the nodes of Ruled, which have so many neighbours at most, by a rule that numbers reckoned outside the program know too.
+func RuledWeb(count, degree, start int) api.Graph {
+	g := Ruled(count)
+	g.Start = start
+	for i := range count {
+		out := []int{}
+		for _, place := range []int{(7*i + 3) % count, (5*i*i + 1) % count, (3*i + 8) % count, (i*i*i + 2*i) % count} {
+			if place != i && !slices.Contains(out, place) && len(out) < degree {
+				out = append(out, place)
+			}
+		}
+		g.Nodes[i].Out = out
+	}
+	return g
+}
+
+// Joins calls f with each way in which a graph's nodes can be joined, each with at most so many neighbours, in each order of these; and with the how-many-th one it is. What f is given holds until it ends.
+func Joins(g api.Graph, degree int, f func(nth int, g api.Graph)) {
+	g.Nodes = slices.Clone(g.Nodes)
+	nth := 0
+	var put func(at int)
+	put = func(at int) {
+		if at == len(g.Nodes) {
+			f(nth, g)
+			nth++
+			return
+		}
+		eachOut(len(g.Nodes), at, degree, func(out []int) {
+			g.Nodes[at].Out = out
+			put(at + 1)
+		})
+	}
+	put(0)
+}
+
+// eachOut calls f with each list of at most so many of the nodes but one, in each order.
+func eachOut(count, own, degree int, f func([]int)) {
+	Subsets(count, func(list []int) {
+		if len(list) <= degree && !slices.Contains(list, own) {
+			Orders(list, func(out []int) { f(slices.Clone(out)) })
+		}
+	})
+}
+
 // Web makes a graph that may be, of so many nodes, with vectors of so many numbers, and so many neighbours at most, without a pattern, the same one for the same seed.
 func Web(seed uint64, count, size, degree int) api.Graph {
 	draw := Drawer(seed)

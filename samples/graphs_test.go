@@ -54,6 +54,55 @@ func TestRuled(t *testing.T) {
 	}
 }
 
+func TestRuledWeb(t *testing.T) {
+	for degree := range 5 {
+		for count := 2; count <= 97; count++ {
+			g, s := samples.RuledWeb(count, degree, count-1), samples.WideSetup(2)
+			s.Degree = max(degree, 1)
+			bare := samples.Bare(samples.Items(g)...)
+			if !graph.Check(g, s) || g.Start != count-1 || !samples.SameGraph(bare, samples.Ruled(count)) {
+				t.Errorf("%d: %v", count, g)
+			}
+		}
+	}
+	want := samples.Joined(samples.Ruled(3), []int{1, 2}, []int{0, 2}, []int{0})
+	if g := samples.RuledWeb(3, 2, 0); !samples.SameGraph(g, want) {
+		t.Errorf("%v", g)
+	}
+	if g := samples.RuledWeb(3, 1, 0); !samples.SameGraph(g, samples.Joined(samples.Ruled(3), []int{1}, []int{0}, []int{0})) {
+		t.Errorf("%v", g)
+	}
+}
+
+// Each way comes once: 1, 4 and 125 of one, two and three nodes with at most two neighbours; the graph stays as it was.
+func TestJoins(t *testing.T) {
+	for count, want := range map[int]int{0: 1, 1: 1, 2: 4, 3: 125} {
+		g := samples.Joined(samples.Bare(samples.Items(samples.Ruled(count))...))
+		seen := map[string]int{}
+		samples.Joins(g, 2, func(nth int, g api.Graph) {
+			told := ""
+			for _, node := range g.Nodes {
+				for _, next := range node.Out {
+					told += string(rune('0' + next))
+				}
+				told += ";"
+			}
+			if nth != len(seen) || !graph.Check(g, samples.WideSetup(2)) {
+				t.Errorf("%d: %v", nth, g)
+			}
+			seen[told]++
+		})
+		if len(seen) != want || !samples.SameGraph(g, samples.Ruled(count)) {
+			t.Errorf("%d nodes: %d ways; %v", count, len(seen), g)
+		}
+	}
+	ways := 0
+	samples.Joins(samples.Ruled(3), 1, func(int, api.Graph) { ways++ })
+	if ways != 27 {
+		t.Errorf("%d ways", ways)
+	}
+}
+
 func TestWeb(t *testing.T) {
 	for _, count := range []int{0, 1, 2, 50, api.MaxItems} {
 		g := samples.Web(1, count, 3, 5)

@@ -1,4 +1,4 @@
-// Package samples makes inputs for the tests of the layers; the layers themselves don't call it.
+// Package samples makes inputs for the tests of the layers, and mends graphs as plainly as the document's words say it, for answers to be held against; the layers themselves don't call it.
 package samples
 
 import "slices"

@@ -23,6 +23,18 @@ func WideSetup(dim int) api.Setup {
 	return s
 }
 
+// Setups are some for vectors of so many numbers, with so many neighbours or more.
+func Setups(dim, degree int) []api.Setup {
+	return []api.Setup{
+		{Dim: dim, Degree: degree, Beam: 1, Num: 1, Den: 1},
+		{Dim: dim, Degree: degree, Beam: 3, Num: 4, Den: 1},
+		{Dim: dim, Degree: degree, Beam: 256, Num: 1000, Den: 1},
+		{Dim: dim, Degree: degree + 1, Beam: 2, Num: 1000, Den: 1},
+		{Dim: dim, Degree: degree + 2, Beam: 5, Num: 6, Den: 5},
+		WideSetup(dim),
+	}
+}
+
 // SetupFields are a setup's numbers, one by one, with their limits.
 func SetupFields(s *api.Setup) ([]*int, []int) {
 	return []*int{&s.Dim, &s.Degree, &s.Beam, &s.Num, &s.Den}, []int{64, 32, 256, 1000, 1000}

@@ -24,6 +24,24 @@ func TestSetups(t *testing.T) {
 	}
 }
 
+// They may be, and have as many neighbours as is asked for, or more.
+func TestSomeSetups(t *testing.T) {
+	for _, dim := range []int{1, 9, api.MaxDim} {
+		for degree := 1; degree <= api.MaxDegree-2; degree++ {
+			least := api.MaxDegree
+			for _, s := range samples.Setups(dim, degree) {
+				least = min(least, s.Degree)
+				if !graph.Setup(s) || s.Dim != dim || s.Degree < degree {
+					t.Errorf("%+v", s)
+				}
+			}
+			if least != degree {
+				t.Errorf("%d neighbours at least; want %d", least, degree)
+			}
+		}
+	}
+}
+
 func TestSetupFields(t *testing.T) {
 	s := samples.MostSetup()
 	numbers, limits := samples.SetupFields(&s)

@@ -1,4 +1,5 @@
-package build
+// Package mending gives the nodes of a graph other neighbours, for the layers that change graphs, build and repair: it leads to what is not reached. The graphs that it is handed may be, for their setup; so none of the calls below refuses them.
+package mending
 
 import (
 	"iter"
@@ -9,15 +10,25 @@ import (
 	"lodestone/search"
 )
 
-// mend leads to what is not reached, step by step, until all nodes are reached.
-func (g *growing) mend() {
-	for lost, reached := range g.breaks() {
-		g.leadTo(lost, reached)
+// none stands where there is no place.
+const none = -1
+
+// Mend leads to what is not reached, step by step, until all nodes are reached. The neighbours that the graph has are changed: their lists are not to be another one's.
+func Mend(g api.Graph, s api.Setup) {
+	broken := mended{Graph: g, setup: s}
+	for lost, reached := range broken.breaks() {
+		broken.leadTo(lost, reached)
 	}
 }
 
+// mended is a graph that is being mended, in place.
+type mended struct {
+	api.Graph
+	setup api.Setup
+}
+
 // breaks tells one by one the first node that is not reached, and those that are, of the graph as it is then.
-func (g *growing) breaks() iter.Seq2[int, []int] {
+func (g *mended) breaks() iter.Seq2[int, []int] {
 	return func(yield func(int, []int) bool) {
 		for {
 			reached, _ := graph.Reached(g.Graph)
@@ -40,7 +51,7 @@ func firstBeside(rising []int) int {
 }
 
 // leadTo makes a lost node the last neighbour of one that is reached: where there is room for it, or else where room can be made.
-func (g *growing) leadTo(lost int, reached []int) {
+func (g *mended) leadTo(lost int, reached []int) {
 	hasRoom := func(place int) bool { return len(g.Nodes[place].Out) < g.setup.Degree }
 	place := g.nearest(lost, reached, hasRoom)
 	if place == none {
@@ -50,7 +61,7 @@ func (g *growing) leadTo(lost int, reached []int) {
 }
 
 // makeRoom takes a neighbour that is no way from the nearest node that has one, and tells where that node is.
-func (g *growing) makeRoom(lost int, reached []int) int {
+func (g *mended) makeRoom(lost int, reached []int) int {
 	from := g.comeFrom()
 	noWays := func(place int) []int {
 		return slices.DeleteFunc(slices.Clone(g.Nodes[place].Out), func(next int) bool { return from[next] == place })
@@ -62,7 +73,7 @@ func (g *growing) makeRoom(lost int, reached []int) int {
 }
 
 // comeFrom tells of each node whose neighbour it is that is the way to it: none, if no way is needed (it is at Start), or it is not reached.
-func (g *growing) comeFrom() []int {
+func (g *mended) comeFrom() []int {
 	from := slices.Repeat([]int{none}, len(g.Nodes))
 	for place, next := range g.ways() {
 		from[next] = place
@@ -71,7 +82,7 @@ func (g *growing) comeFrom() []int {
 }
 
 // ways goes through the nodes from Start, in the order in which they are come to, and tells the ways one by one: the place of a node, and the one that is first come to from there.
-func (g *growing) ways() iter.Seq2[int, int] {
+func (g *mended) ways() iter.Seq2[int, int] {
 	return func(yield func(int, int) bool) {
 		came := make([]bool, len(g.Nodes))
 		came[g.Start] = true
@@ -92,14 +103,14 @@ func (g *growing) ways() iter.Seq2[int, int] {
 }
 
 // nearest is, of those places of which may says so, the one that is nearest to the node at another one; none, if it says so of none.
-func (g *growing) nearest(at int, places []int, may func(int) bool) int {
+func (g *mended) nearest(at int, places []int, may func(int) bool) int {
 	var asked []int
 	for _, place := range places {
 		if may(place) {
 			asked = append(asked, place)
 		}
 	}
-	hits, _ := search.Exact(g.part(asked), g.Nodes[at].V, 1)
+	hits, _ := search.Exact(part(g.Graph, asked), g.Nodes[at].V, 1)
 	if len(hits) == 0 {
 		return none
 	}
@@ -107,10 +118,10 @@ func (g *growing) nearest(at int, places []int, may func(int) bool) int {
 }
 
 // farthest is, of some neighbours, the one that is farthest from the node at a place.
-func (g *growing) farthest(at int, next []int) int {
-	hits, _ := search.Exact(g.part(next), g.Nodes[at].V, len(next))
+func (g *mended) farthest(at int, next []int) int {
+	hits, _ := search.Exact(part(g.Graph, next), g.Nodes[at].V, len(next))
 	return g.at(hits[len(hits)-1])
 }
 
 // at is the place of a node that was hit.
-func (g *growing) at(hit api.Hit) int { return graph.Find(g.Graph, hit.ID) }
+func (g *mended) at(hit api.Hit) int { return graph.Find(g.Graph, hit.ID) }
